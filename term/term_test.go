@@ -10,46 +10,16 @@ import (
 
 	"heddle/api"
 	"heddle/atom"
+	"heddle/sample"
 	"heddle/term"
 )
 
-func num(n int64) api.Term { return api.Term{Kind: api.KInt, Int: n} }
-
-func word(s string) api.Term { return api.Term{Kind: api.KAtom, Text: s} }
-
-func ref(node string, creation uint32, nums ...uint32) api.Term {
-	return api.Term{Kind: api.KRef, Text: node, Creation: creation, Nums: nums}
-}
-
-func pid(node string, creation uint32, nums ...uint32) api.Term {
-	return api.Term{Kind: api.KPid, Text: node, Creation: creation, Nums: nums}
-}
-
-func tuple(args ...api.Term) api.Term { return api.Term{Kind: api.KTuple, Args: args} }
-
-func null() api.Term { return api.Term{Kind: api.KNil} }
-
-// list: elements and, last, the tail.
-func list(args ...api.Term) api.Term { return api.Term{Kind: api.KList, Args: args} }
-
-// chain: tuples one within the other, with that term as the innermost part; its depth is n more.
-func chain(n int, inner api.Term) api.Term {
-	for range n {
-		inner = tuple(inner)
-	}
-	return inner
-}
-
-// ones: so many ints.
-func ones(n int) []api.Term { return slices.Repeat([]api.Term{num(1)}, n) }
-
-// same: are all fields of all parts the same, nil and empty lists being the same?
-func same(a, b api.Term) bool {
-	return a.Kind == b.Kind && a.Int == b.Int && a.Text == b.Text && a.Creation == b.Creation &&
-		slices.Equal(a.Nums, b.Nums) && slices.EqualFunc(a.Args, b.Args, same)
-}
-
-func isZero(t api.Term) bool { return same(t, api.Term{}) }
+// Short names for the terms that tests make by hand.
+var (
+	num, word, ref, pid, tuple = sample.Int, sample.Atom, sample.Ref, sample.Pid, sample.Tuple
+	null, list, ones, chain    = sample.Nil, sample.List, sample.Ones, sample.Chain
+	same, isZero               = sample.Same, sample.IsZero
+)
 
 // refused: err is a fault of layer term with that number at that place, and nothing lies under it.
 func refused(t *testing.T, what string, err error, code api.Errno, at int) {
@@ -322,7 +292,7 @@ func TestFirstFault(t *testing.T) {
 // Rule 1: parts made by hand that hold themselves, or one another many times, are refused at the limits.
 func TestPartsWithoutEnd(t *testing.T) {
 	args := make([]api.Term, 1)
-	args[0] = tuple(args...)
+	args[0] = api.Term{Kind: api.KTuple, Args: args} // not by tuple, which makes a copy of them
 	noTerm(t, "a tuple in itself", args[0], api.ErrDeep, api.MaxDepth, nil)
 	pair := num(1)
 	for range 60 {

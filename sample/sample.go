@@ -1,0 +1,53 @@
+// Package sample makes terms by hand, for tests: right ones and wrong ones, which no other package would make.
+package sample
+
+import (
+	"slices"
+
+	"heddle/api"
+)
+
+// Int is an int.
+func Int(n int64) api.Term { return api.Term{Kind: api.KInt, Int: n} }
+
+// Atom is an atom.
+func Atom(s string) api.Term { return api.Term{Kind: api.KAtom, Text: s} }
+
+// Ref is a reference.
+func Ref(node string, creation uint32, nums ...uint32) api.Term {
+	return api.Term{Kind: api.KRef, Text: node, Creation: creation, Nums: slices.Clone(nums)}
+}
+
+// Pid is a pid.
+func Pid(node string, creation uint32, nums ...uint32) api.Term {
+	return api.Term{Kind: api.KPid, Text: node, Creation: creation, Nums: slices.Clone(nums)}
+}
+
+// Tuple is a tuple.
+func Tuple(args ...api.Term) api.Term { return api.Term{Kind: api.KTuple, Args: slices.Clone(args)} }
+
+// Nil is the empty list.
+func Nil() api.Term { return api.Term{Kind: api.KNil} }
+
+// List is the list of elements and, last, the tail.
+func List(args ...api.Term) api.Term { return api.Term{Kind: api.KList, Args: slices.Clone(args)} }
+
+// Ones is so many ints.
+func Ones(n int) []api.Term { return slices.Repeat([]api.Term{Int(1)}, n) }
+
+// Chain is tuples one within the other, with that term as the innermost part; its depth is n more.
+func Chain(n int, inner api.Term) api.Term {
+	for range n {
+		inner = Tuple(inner)
+	}
+	return inner
+}
+
+// Same tells whether all fields of all parts are the same, nil and empty lists being the same.
+func Same(a, b api.Term) bool {
+	return a.Kind == b.Kind && a.Int == b.Int && a.Text == b.Text && a.Creation == b.Creation &&
+		slices.Equal(a.Nums, b.Nums) && slices.EqualFunc(a.Args, b.Args, Same)
+}
+
+// IsZero tells whether it is what stands beside an error.
+func IsZero(t api.Term) bool { return Same(t, api.Term{}) }

@@ -1,0 +1,39 @@
+package sample_test
+
+import (
+	"testing"
+
+	"heddle/api"
+	"heddle/sample"
+)
+
+func TestSame(t *testing.T) {
+	all := []api.Term{
+		{}, sample.Int(1), sample.Int(2), sample.Atom("a"), sample.Atom("b"), sample.Nil(),
+		sample.Ref("n@h", 1, 2, 3, 4), sample.Ref("n@h", 2, 2, 3, 4), sample.Ref("m@h", 1, 2, 3, 4), sample.Ref("n@h", 1, 2, 3, 5), sample.Pid("n@h", 1, 2, 3),
+		sample.Tuple(), sample.Tuple(sample.Int(1)), sample.Tuple(sample.Int(2)), sample.Tuple(sample.Ones(2)...),
+		sample.List(sample.Int(1), sample.Nil()), sample.Chain(2, sample.Int(1)),
+	}
+	for i, a := range all {
+		for j, b := range all {
+			if sample.Same(a, b) != (i == j) {
+				t.Errorf("Same(%v, %v) = %v", a, b, i != j)
+			}
+		}
+		if sample.IsZero(a) != (i == 0) {
+			t.Errorf("IsZero(%v) = %v", a, i != 0)
+		}
+	}
+	if !sample.Same(sample.Tuple(), api.Term{Kind: api.KTuple, Args: []api.Term{}, Nums: []uint32{}}) {
+		t.Error("nil and empty lists are not the same")
+	}
+}
+
+func TestKeepsNothing(t *testing.T) {
+	args, nums := sample.Ones(2), []uint32{1, 2}
+	x, y := sample.Tuple(args...), sample.Pid("n@h", 1, nums...)
+	args[0], nums[0] = sample.Nil(), 9
+	if !sample.Same(x, sample.Tuple(sample.Int(1), sample.Int(1))) || !sample.Same(y, sample.Pid("n@h", 1, 1, 2)) {
+		t.Errorf("%v, %v", x, y)
+	}
+}
