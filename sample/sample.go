@@ -1,7 +1,8 @@
-// Package sample makes terms by hand, for tests: right ones and wrong ones, which no other package would make.
+// Package sample makes terms by hand, for tests: right ones and wrong ones, which no other package would make. It also tells terms and faults apart.
 package sample
 
 import (
+	"errors"
 	"slices"
 
 	"heddle/api"
@@ -51,3 +52,15 @@ func Same(a, b api.Term) bool {
 
 // IsZero tells whether it is what stands beside an error.
 func IsZero(t api.Term) bool { return Same(t, api.Term{}) }
+
+// IsFault tells whether an error is just this chain of faults, the outermost one ahead; what lies Under each is the next one.
+func IsFault(err error, chain ...api.Fault) bool {
+	for _, want := range chain {
+		var got *api.Fault
+		if !errors.As(err, &got) || got.Layer != want.Layer || got.At != want.At || got.Code != want.Code {
+			return false
+		}
+		err = got.Under
+	}
+	return err == nil
+}

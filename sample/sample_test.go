@@ -37,3 +37,20 @@ func TestKeepsNothing(t *testing.T) {
 		t.Errorf("%v, %v", x, y)
 	}
 }
+
+func TestIsFault(t *testing.T) {
+	inner, outer := api.Fault{Layer: "atom", At: 2, Code: api.ErrUTF}, api.Fault{Layer: "term", At: 1, Code: api.ErrUTF}
+	wrapped := outer
+	wrapped.Under = &inner
+	if !sample.IsFault(nil) || !sample.IsFault(&inner, inner) || !sample.IsFault(&wrapped, outer, inner) {
+		t.Error("a chain is not found")
+	}
+	if sample.IsFault(&inner) || sample.IsFault(nil, inner) || sample.IsFault(&inner, outer) || sample.IsFault(&wrapped, outer) || sample.IsFault(&outer, outer, inner) || sample.IsFault(api.ErrUTF, inner) {
+		t.Error("a chain is found that is not there")
+	}
+	for _, other := range []api.Fault{{Layer: "term", At: 2, Code: api.ErrUTF}, {Layer: "atom", At: 1, Code: api.ErrUTF}, {Layer: "atom", At: 2, Code: api.ErrLong}} {
+		if sample.IsFault(&inner, other) {
+			t.Errorf("%v is taken for %v", inner, other)
+		}
+	}
+}
