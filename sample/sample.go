@@ -44,6 +44,19 @@ func Chain(n int, inner api.Term) api.Term {
 	return inner
 }
 
+// Scribble writes over all memory that a term reaches by its lists, what lies unused behind them too: whoever shares it will show it.
+func Scribble(t api.Term) {
+	nums := t.Nums[:cap(t.Nums)]
+	for i := range nums {
+		nums[i] = 77
+	}
+	args := t.Args[:cap(t.Args)]
+	for i := range args {
+		Scribble(args[i])
+		args[i] = Atom("scribbled")
+	}
+}
+
 // Same tells whether all fields of all parts are the same, nil and empty lists being the same.
 func Same(a, b api.Term) bool {
 	return a.Kind == b.Kind && a.Int == b.Int && a.Text == b.Text && a.Creation == b.Creation &&

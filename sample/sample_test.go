@@ -1,6 +1,7 @@
 package sample_test
 
 import (
+	"slices"
 	"testing"
 
 	"heddle/api"
@@ -36,6 +37,17 @@ func TestKeepsNothing(t *testing.T) {
 	if !sample.Same(x, sample.Tuple(sample.Int(1), sample.Int(1))) || !sample.Same(y, sample.Pid("n@h", 1, 1, 2)) {
 		t.Errorf("%v, %v", x, y)
 	}
+}
+
+func TestScribble(t *testing.T) {
+	mark := sample.Atom("scribbled")
+	nums, args := []uint32{1, 2, 3}, []api.Term{sample.Int(1), {Kind: api.KPid, Nums: []uint32{5, 6}}, sample.Int(2)}
+	inner := args[1].Nums
+	sample.Scribble(api.Term{Nums: nums[:1], Args: args[:2]})
+	if !slices.Equal(nums, []uint32{77, 77, 77}) || !slices.Equal(inner, []uint32{77, 77}) || !slices.EqualFunc(args, []api.Term{mark, mark, mark}, sample.Same) {
+		t.Errorf("%v, %v, %v", nums, inner, args)
+	}
+	sample.Scribble(api.Term{})
 }
 
 func TestIsFault(t *testing.T) {

@@ -8,19 +8,6 @@ import (
 	"heddle/term"
 )
 
-// scribble writes over all memory that a term reaches by its lists, what lies unused behind them too.
-func scribble(t api.Term) {
-	nums := t.Nums[:cap(t.Nums)]
-	for i := range nums {
-		nums[i] = 77
-	}
-	args := t.Args[:cap(t.Args)]
-	for i := range args {
-		scribble(args[i])
-		args[i] = word("scribbled")
-	}
-}
-
 // rich: a term with lists of all sorts, made anew at each call, with room behind its lists.
 func rich() api.Term {
 	t := list(tuple(pid("n@h", 1, 2, 3), list(ref("n@h", 1, 2, 3, 4), num(5))), pid("n@h", 1, 7, 8), list(num(1), null()), tuple(ref("m@h", 1, 2, 3, 4)))

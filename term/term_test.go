@@ -18,7 +18,7 @@ import (
 var (
 	num, word, ref, pid, tuple = sample.Int, sample.Atom, sample.Ref, sample.Pid, sample.Tuple
 	null, list, ones, chain    = sample.Nil, sample.List, sample.Ones, sample.Chain
-	same, isZero               = sample.Same, sample.IsZero
+	same, isZero, scribble     = sample.Same, sample.IsZero, sample.Scribble
 )
 
 // refused: err is a fault of layer term with that number at that place, and nothing lies under it.
