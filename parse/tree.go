@@ -21,8 +21,8 @@ func Below(l []api.Node, roots ...int) []int {
 		}
 	}
 	var below []int
-	for i, is := range met {
-		if is {
+	for i, reached := range met {
+		if reached {
 			below = append(below, i)
 		}
 	}
