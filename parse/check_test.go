@@ -213,47 +213,54 @@ func areLower(l []api.Node, i int) bool {
 	return true
 }
 
-// isRight: is there a program one of whose phrases, or which, is the tree below a node? It is asked as the chapter says it: by the tokens.
+// isRight: is a tree one that a program's tokens have? It is asked as the chapter says it: by the tokens.
 func isRight(l []api.Node, root int) bool {
-	if root < 0 || root >= len(l) || !areLower(l, root) {
-		return false
+	return l[root].Kind == api.NProgram && areLower(l, root) && isProgram(l, root)
+}
+
+// inProgram puts nodes behind some, so that node i is a phrase of the program that it tells; nothing, if it is a program itself. What it puts there may be memory that is used again.
+func inProgram(l []api.Node, i int) ([]api.Node, int) {
+	for l[i].Kind != api.NProgram {
+		l = append(l, around(l, i)...)
+		i = len(l) - 1
 	}
-	// What is put behind l is used up ahead of the next: it may be the same memory each time.
-	one := func(n api.Node) []api.Node { return append(l, n) }
-	n := l[root]
+	return l, i
+}
+
+// around tells nodes to be put behind some, the last of which has node i as a phrase, and is itself as it must be.
+func around(l []api.Node, i int) []api.Node {
+	n, next := l[i], len(l)
+	body := []api.Node{{Kind: api.ENil}, {Kind: api.NBody, Kids: []int{next}}}
 	switch n.Kind {
-	case api.NProgram:
-		return isProgram(l, root)
 	case api.NModule:
-		return isRight(one(api.Node{Kind: api.NProgram, Kids: []int{root}}), len(l))
+		return []api.Node{{Kind: api.NProgram, Kids: []int{i}}}
 	case api.NFunction, api.NExport:
-		return isRight(one(api.Node{Kind: api.NModule, Text: "m", Kids: []int{root}}), len(l))
+		return []api.Node{{Kind: api.NModule, Text: "m", Kids: []int{i}}}
 	case api.NClause:
-		if len(n.Kids) > 0 && l[n.Kids[0]].Kind == api.NArgs {
-			return isRight(one(api.Node{Kind: api.NFunction, Text: n.Text, Int: int64(len(l[n.Kids[0]].Kids)), Kids: []int{root}}), len(l))
+		switch {
+		case isFun(l, n):
+			return []api.Node{{Kind: api.NFunction, Text: n.Text, Int: int64(len(l[n.Kids[0]].Kids)), Kids: []int{i}}}
+		case n.Text == "":
+			return []api.Node{{Kind: api.ENil}, {Kind: api.ECase, Kids: []int{next, i}}}
 		}
-		inCase := append(one(api.Node{Kind: api.ENil}), api.Node{Kind: api.ECase, Kids: []int{len(l), root}})
-		if isRight(inCase, len(inCase)-1) {
-			return true
-		}
-		inTry := append(one(api.Node{Kind: api.ENil}), api.Node{Kind: api.NBody, Kids: []int{len(l)}}, api.Node{Kind: api.ETry, Kids: []int{len(l) + 1, root}})
-		return isRight(inTry, len(inTry)-1)
+		return append(body, api.Node{Kind: api.ETry, Kids: []int{next + 1, i}})
 	case api.NArgs:
-		inClause := append(one(api.Node{Kind: api.ENil}), api.Node{Kind: api.NBody, Kids: []int{len(l)}}, api.Node{Kind: api.NClause, Text: "f", Kids: []int{root, len(l) + 1}})
-		return isRight(inClause, len(inClause)-1)
+		return append(body, api.Node{Kind: api.NClause, Text: "f", Kids: []int{i, next + 1}})
 	case api.NGuard:
-		inClause := append(one(api.Node{Kind: api.ENil}), api.Node{Kind: api.NBody, Kids: []int{len(l)}}, api.Node{Kind: api.NClause, Kids: []int{len(l), root, len(l) + 1}})
-		return isRight(inClause, len(inClause)-1)
+		return append(body, api.Node{Kind: api.NClause, Kids: []int{next, i, next + 1}})
 	case api.NConj:
-		return isRight(one(api.Node{Kind: api.NGuard, Kids: []int{root}}), len(l))
+		return []api.Node{{Kind: api.NGuard, Kids: []int{i}}}
 	case api.NBody:
-		// In an EBegin it would be in a body again, and so on without end: a function's it must be.
-		inModule := append(one(api.Node{Kind: api.NArgs}), api.Node{Kind: api.NClause, Text: "f", Kids: []int{len(l), root}}, api.Node{Kind: api.NFunction, Text: "f", Kids: []int{len(l) + 1}})
-		return isRight(inModule, len(inModule)-1)
+		return []api.Node{{Kind: api.NArgs}, {Kind: api.NClause, Text: "f", Kids: []int{next, i}}}
 	case api.NAfter:
-		return isRight(one(api.Node{Kind: api.EReceive, Kids: []int{root}}), len(l))
+		return []api.Node{{Kind: api.EReceive, Kids: []int{i}}}
 	}
-	return isRight(one(api.Node{Kind: api.NBody, Kids: []int{root}}), len(l))
+	return []api.Node{{Kind: api.NBody, Kids: []int{i}}}
+}
+
+// isFun: has a clause arguments?
+func isFun(l []api.Node, n api.Node) bool {
+	return len(n.Kids) > 0 && n.Kids[0] >= 0 && n.Kids[0] < len(l) && l[n.Kids[0]].Kind == api.NArgs
 }
 
 // isProgram: are these tokens of a text whose tree is the same?
@@ -305,7 +312,7 @@ func shifted(l []api.Node, by int) []api.Node {
 	return l
 }
 
-// P11.3: every node of a program with all kinds, with one Kid less, one more, each other kind of Kid, in another order, of each other kind, with other fields: held against what the tokens say.
+// P11.3: every node of a program with all kinds, with one Kid less, one more, each other kind of Kid, in another order, of each other kind, with other fields: held against what the tokens say, as a root, within a small program, and now and then where it stood.
 func TestCheckChanged(t *testing.T) {
 	extra, kinds := spares(t)
 	program, top, err := parse.Text(allKinds)
@@ -322,7 +329,7 @@ func TestCheckChanged(t *testing.T) {
 		l := append(buffer, whole...)
 		l[i].Kids = slices.Clone(l[i].Kids)
 		change(&l[i])
-		for _, r := range []int{i, root}[:1+(asked%9)/8] {
+		hold := func(l []api.Node, r int) {
 			right := isRight(l, r)
 			err := parse.Check(l, r)
 			if right && err != nil || !right && !sample.IsFault(err, faulty(0, api.ErrTree)) {
@@ -331,6 +338,11 @@ func TestCheckChanged(t *testing.T) {
 			if right {
 				taken++
 			}
+		}
+		hold(l, i)
+		hold(inProgram(l, i))
+		if asked%9 == 0 {
+			hold(l, root)
 		}
 	}
 	for i := len(extra); i < len(whole); i++ {
@@ -406,14 +418,19 @@ func TestCheckKinds(t *testing.T) {
 		module, as("", module), as("m", of(api.NModule, export, function, function, export)), of(api.NProgram, module), of(api.NProgram, module, module), export, count(api.MaxInt, export),
 	}
 	for _, one := range right {
-		wrong(t, write(one, false), listOf(one), len(listOf(one))-1, api.OK)
+		l := listOf(one)
+		if one.node.Kind != api.NProgram {
+			wrong(t, write(one, false)+" as a root", l, len(l)-1, api.ErrTree)
+		}
+		l, root := inProgram(l, len(l)-1)
+		wrong(t, write(one, false), l, root, api.OK)
 	}
 	for _, one := range []tree{
 		count(-1, of(api.EInt)), count(api.MaxInt+1, of(api.EInt)), as("a", of(api.EInt)), of(api.EInt, a), as("\xff", of(api.EAtom)), as(strings.Repeat("a", 256), of(api.EAtom)), count(1, a), of(api.EAtom, a),
 		of(api.EVar), as("x", of(api.EVar)), as("X ", of(api.EVar)), as("X Y", of(api.EVar)), as("_", of(api.EVar, a)), as("a", of(api.ETuple)), of(api.ETuple, body), of(api.ENil, a), of(api.EList), of(api.EList, a), of(api.EList, a, body),
-		of(api.EMatch, a), of(api.EMatch, a, a, a), of(api.ESend, a), of(api.EAndAlso, a, a, a), of(api.EOrElse, a), as("=", of(api.EMatch, a, a)), of(api.ECase, a), of(api.ECase, plain), of(api.ECase, a, caught), of(api.ECase, a, fun), of(api.ECase, a, plain, a), of(api.ECase, a, plain, after),
-		of(api.EBegin), of(api.EBegin, a), of(api.EBegin, body, body), of(api.ETry, body), of(api.ETry, body, plain), of(api.ETry, a, caught), of(api.ETry, body, as("_x", plain)), of(api.ETry, body, fun), of(api.ETry, body, as("exit", fun)), of(api.ETry, body, caught, body),
-		of(api.EReceive), of(api.EReceive, after, plain), of(api.EReceive, after, after), of(api.EReceive, caught), of(api.EReceive, a), as("\xff", of(api.ECall)), as("f", of(api.ECall, body)), as("++", of(api.EUnary, a)), as("+", of(api.EUnary, a, a)), of(api.EUnary, a),
+		of(api.EMatch, a), of(api.EMatch, a, a, a), of(api.ESend, a), of(api.EAndAlso, a, a, a), of(api.EOrElse, a), as("=", of(api.EMatch, a, a)), of(api.ECase, a), of(api.ECase, plain), of(api.ECase, a, caught), of(api.ECase, a, as("f", plain)), of(api.ECase, a, fun), of(api.ECase, a, plain, a), of(api.ECase, a, plain, after),
+		of(api.EBegin), of(api.EBegin, a), of(api.EBegin, body, body), of(api.ETry, body), of(api.ETry, body, plain), of(api.ETry, a, caught), of(api.ETry, body, as("_x", plain)), of(api.ETry, body, as("f", plain)), of(api.ETry, body, fun), of(api.ETry, body, as("exit", fun)), of(api.ETry, body, caught, body),
+		of(api.EReceive), of(api.EReceive, after, plain), of(api.EReceive, after, after), of(api.EReceive, caught), of(api.EReceive, as("f", plain)), of(api.EReceive, a), as("\xff", of(api.ECall)), as("f", of(api.ECall, body)), as("++", of(api.EUnary, a)), as("+", of(api.EUnary, a, a)), of(api.EUnary, a),
 		as("=", of(api.EBinary, a, a)), as("!", of(api.EBinary, a, a)), as("andalso", of(api.EBinary, a, a)), as("orelse", of(api.EBinary, a, a)), as("not", of(api.EBinary, a, a)), of(api.EBinary, a, a), as("+", of(api.EBinary, a)), as("/", of(api.EBinary, a, a)), as("<=", of(api.EBinary, a, a)),
 		of(api.NClause, body), of(api.NClause, a), of(api.NClause, a, guard), of(api.NClause, a, a), of(api.NClause, a, body, guard), of(api.NClause, a, guard, guard, body), of(api.NClause, a, body, body), as("f", plain), as("\xff", fun), count(1, plain), of(api.NClause, guard, body),
 		of(api.NGuard), of(api.NGuard, a), of(api.NConj), of(api.NConj, guard), of(api.NBody), of(api.NBody, body), of(api.NAfter, a), of(api.NAfter, body), of(api.NAfter, body, a), of(api.NAfter, a, a), of(api.NAfter, a, body, body), of(api.NArgs, args), as("f", args),
@@ -421,17 +438,16 @@ func TestCheckKinds(t *testing.T) {
 		as("m", of(api.NModule, a)), as("m", of(api.NModule, fun)), as("m", of(api.NModule, module)), as("\xff", module), count(1, module), of(api.NProgram), of(api.NProgram, function), as("m", of(api.NProgram, module)), of(api.NProgram, of(api.NProgram, module)),
 		count(-1, export), count(api.MaxInt+1, export), as("\xff", export), as("f", of(api.NExport, a)), of(0), of(18), of(19), of(30), of(-1), of(1 << 40), of(0, a),
 	} {
-		wrong(t, write(one, false), listOf(one), len(listOf(one))-1, api.ErrTree)
-		if one.node.Kind <= 17 {
-			in := of(api.NProgram, as("m", of(api.NModule, as("f", of(api.NFunction, as("f", of(api.NClause, args, of(api.NBody, one))))))))
-			wrong(t, write(in, false), listOf(in), len(listOf(in))-1, api.ErrTree)
-		}
+		l := listOf(one)
+		wrong(t, write(one, false)+" as a root", l, len(l)-1, api.ErrTree)
+		l, root := inProgram(l, len(l)-1)
+		wrong(t, write(one, false), l, root, api.ErrTree)
 	}
 }
 
 // P11.3: a root that is no node.
-func TestCheckRoot(t *testing.T) {
-	l, root, err := parse.Text(allKinds)
+func TestCheckNoRoot(t *testing.T) {
+	l, _, err := parse.Text(allKinds)
 	if err != nil {
 		t.Fatal(err)
 	}
@@ -440,11 +456,37 @@ func TestCheckRoot(t *testing.T) {
 	}
 	wrong(t, "no nodes", nil, 0, api.ErrTree)
 	wrong(t, "no nodes", []api.Node{}, 0, api.ErrTree)
-	for i := range l {
-		wrong(t, "a node below the root", l, i, api.OK)
+}
+
+// P11.3: a root of another kind than a program's, of each of these kinds, though all is right below it.
+func TestCheckRootKinds(t *testing.T) {
+	l, root, err := parse.Text(allKinds)
+	if err != nil {
+		t.Fatal(err)
 	}
-	if l[root].Kind != api.NProgram {
-		t.Error("the root is no program")
+	met := map[api.NodeKind]int{}
+	for i, n := range l {
+		met[n.Kind]++
+		code := api.ErrTree
+		if i == root {
+			code = api.OK
+		}
+		wrong(t, names[n.Kind]+" "+n.Text+" of a program", l, i, code)
+		// Nothing of the program is behind the root, and nothing but its tree ahead of it.
+		alone := listOf(treeOf(l, i))
+		wrong(t, names[n.Kind]+" "+n.Text+" alone", alone, len(alone)-1, code)
+	}
+	for kind, name := range names {
+		if met[kind] == 0 {
+			t.Errorf("no %s was asked", name)
+		}
+	}
+	if len(names) != 27 || met[api.NProgram] != 1 {
+		t.Errorf("%d kinds, %d programs", len(names), met[api.NProgram])
+	}
+	for _, n := range []api.Node{{Kind: api.ECall}, {Kind: api.ENil}, {Kind: api.EAtom}, {Kind: api.EInt}, {Kind: api.ETuple}, {Kind: api.EVar, Text: "X"}, {Kind: api.NArgs}, {Kind: api.NExport}, {Kind: api.NModule}, {Kind: api.NModule, Text: "m"}, {}} {
+		wrong(t, show(n), []api.Node{n}, 0, api.ErrTree)
+		wrong(t, show(n)+" behind another", []api.Node{{}, n}, 1, api.ErrTree)
 	}
 }
 
@@ -470,7 +512,19 @@ func TestCheckReached(t *testing.T) {
 	wrong(t, "a clause of a case, which is a try's", shared, 11, api.ErrTree)
 }
 
-// chain is so many nodes one within the other, each the Kid of the next, as many as it is told.
+// What is put about an expression so that it is a program: so many nodes (NArgs, NBody, NClause, NFunction, NModule, NProgram), of which so many are one above the other.
+const (
+	nodesAround = 6
+	nodesAbove  = 5
+)
+
+// inside is a program whose expression is the last of some nodes; its root is the last again.
+func inside(l []api.Node) []api.Node {
+	l, _ = inProgram(l, len(l)-1)
+	return l
+}
+
+// chain is nodes one within the other, each the Kid of the next, as many as it is told.
 func chain(n int) []api.Node {
 	l := []api.Node{{Kind: api.ENil}}
 	for i := range n - 1 {
@@ -479,57 +533,86 @@ func chain(n int) []api.Node {
 	return l
 }
 
-// row is a tuple of so many nodes with it.
-func row(n int) []api.Node {
-	l := make([]api.Node, n)
-	top := &l[n-1]
+// high is a program of a height; it has one node more than that.
+func high(height int) []api.Node { return inside(chain(height - nodesAbove)) }
+
+// wide is a program of so many nodes, of no great height.
+func wide(n int) []api.Node {
+	l := make([]api.Node, n-nodesAround)
+	top := &l[len(l)-1]
 	top.Kind = api.ETuple
-	for i := range n - 1 {
+	for i := range len(l) - 1 {
 		l[i].Kind = api.ENil
 		top.Kids = append(top.Kids, i)
 	}
-	return l
+	return inside(l)
 }
 
-// P11.3: sizes and heights at the limits and one beyond; which of them is told.
+// wrongLast holds what Check answers of the last node as the root.
+func wrongLast(t *testing.T, what string, l []api.Node, code api.Errno) {
+	t.Helper()
+	wrong(t, what, l, len(l)-1, code)
+}
+
+// P11.3: sizes and heights at the limits and one beyond.
 func TestCheckLimits(t *testing.T) {
-	wrong(t, "height 500", chain(500), 499, api.OK)
-	wrong(t, "height 501", chain(501), 500, api.ErrNest)
-	wrong(t, "height 500 in 501", chain(501), 499, api.OK)
-	wrong(t, "height 65536", chain(65536), 65535, api.ErrNest)
-	wrong(t, "65537 nodes, one within the other", chain(65537), 65536, api.ErrMany)
-	wrong(t, "far more", chain(300000), 299999, api.ErrMany)
-	wrong(t, "65536 nodes", row(65536), 65535, api.OK)
-	wrong(t, "65537 nodes", row(65537), 65536, api.ErrMany)
-	wrong(t, "200000 nodes", row(200000), 199999, api.ErrMany)
-	wrong(t, "of 65537 nodes one that is not reached", append(row(65536), api.Node{Kind: api.ENil}), 65535, api.OK)
-
-	broken := chain(65537)
-	broken[0].Kind = 0
-	wrong(t, "no tree, too many and too high", broken, 65536, api.ErrTree)
-	broken = chain(501)
-	broken[3].Int = 1
-	wrong(t, "no tree, too high", broken, 500, api.ErrTree)
-	broken = row(65537)
-	broken[65535].Text = "a"
-	wrong(t, "no tree, too many", broken, 65536, api.ErrTree)
-	broken = row(65537)
-	broken[65536].Kids[7] = 65536
-	wrong(t, "too many, with one that holds itself", broken, 65536, api.ErrTree)
-
-	// Nodes count once, however often they are reached, and the highest way counts, whichever Kid it goes by.
-	wide := []api.Node{{Kind: api.ENil}, {Kind: api.ETuple, Kids: make([]int, 100000)}}
-	wrong(t, "100000 times the same Kid", wide, 1, api.OK)
-	for _, kids := range [][]int{{0, 498}, {498, 0}, {0, 498, 0}} {
-		side := append(chain(499), api.Node{Kind: api.ETuple, Kids: kids})
-		wrong(t, "height 500", side, 499, api.OK)
-		side = append(side, api.Node{Kind: api.EList, Kids: []int{0, 499}})
-		wrong(t, "height 501", side, 500, api.ErrNest)
+	if got := len(high(500)); got != 501 {
+		t.Fatalf("%d nodes", got)
 	}
-	twice := doubled(499)
-	wrong(t, "height 500, each node twice", twice, 499, api.OK)
-	twice = doubled(500)
-	wrong(t, "height 501, each node twice", twice, 500, api.ErrNest)
+	if got := len(wide(65536)); got != 65536 {
+		t.Fatalf("%d nodes", got)
+	}
+	wrongLast(t, "height 500", high(500), api.OK)
+	wrongLast(t, "height 501", high(501), api.ErrNest)
+	wrongLast(t, "height 65535, 65536 nodes", high(65535), api.ErrNest)
+	wrongLast(t, "height 65536, 65537 nodes", high(65536), api.ErrMany)
+	wrongLast(t, "far more", high(300000), api.ErrMany)
+	wrongLast(t, "65536 nodes", wide(65536), api.OK)
+	wrongLast(t, "65537 nodes", wide(65537), api.ErrMany)
+	wrongLast(t, "200000 nodes", wide(200000), api.ErrMany)
+
+	// What is not reached plays no part, be it too high or too much.
+	wrong(t, "of 65537 nodes one that is not reached", append(wide(65536), api.Node{Kind: api.ENil}), 65535, api.OK)
+	wrongLast(t, "height 500 beside 501", append(high(501), shifted(high(500), 502)...), api.OK)
+	wrong(t, "height 500 ahead of 501", append(high(500), shifted(high(501), 501)...), 500, api.OK)
+}
+
+// P11.3: what is no right tree is told as such, whatever its size and height: be it for a node far below, or for the root.
+func TestCheckWhichFirst(t *testing.T) {
+	for _, l := range [][]api.Node{high(501), high(65536), wide(65537)} {
+		for i := len(l) - nodesAround - 1; i < len(l)-1; i++ {
+			wrong(t, "another root, too much", l, i, api.ErrTree)
+		}
+		l[len(l)-1].Text = "a"
+		wrongLast(t, "a root with a Text, too much", l, api.ErrTree)
+	}
+	broken := high(65536)
+	broken[0].Kind = 0
+	wrongLast(t, "no tree, too many and too high", broken, api.ErrTree)
+	broken = high(501)
+	broken[3].Int = 1
+	wrongLast(t, "no tree, too high", broken, api.ErrTree)
+	broken = wide(65537)
+	broken[7].Text = "a"
+	wrongLast(t, "no tree, too many", broken, api.ErrTree)
+	broken = wide(65537)
+	tuple := 65537 - nodesAround - 1
+	broken[tuple].Kids[7] = tuple
+	wrongLast(t, "too many, with one that holds itself", broken, api.ErrTree)
+}
+
+// P11.3: nodes count once, however often they are reached, and the highest way counts, whichever Kid it goes by.
+func TestCheckSharedLimits(t *testing.T) {
+	often := []api.Node{{Kind: api.ENil}, {Kind: api.ETuple, Kids: make([]int, 100000)}}
+	wrongLast(t, "100000 times the same Kid", inside(often), api.OK)
+	for _, kids := range [][]int{{0, 493}, {493, 0}, {0, 493, 0}} {
+		side := append(chain(494), api.Node{Kind: api.ETuple, Kids: kids})
+		wrongLast(t, "height 500", inside(slices.Clip(side)), api.OK)
+		side = append(side, api.Node{Kind: api.EList, Kids: []int{0, 494}})
+		wrongLast(t, "height 501", inside(side), api.ErrNest)
+	}
+	wrongLast(t, "height 500, each node twice", inside(doubled(494)), api.OK)
+	wrongLast(t, "height 501, each node twice", inside(doubled(495)), api.ErrNest)
 }
 
 // Rule 4: Check changes nothing and keeps nothing.
@@ -564,11 +647,17 @@ func TestCheckSomeNodes(t *testing.T) {
 			}
 		}
 		root := r.Intn(len(l))
-		if isRight(l, root) {
-			good++
-			wrong(t, show(l), l, root, api.OK)
-		} else {
-			wrong(t, show(l), l, root, api.ErrTree)
+		in, top := inProgram(l, root)
+		for _, c := range []struct {
+			l    []api.Node
+			root int
+		}{{l, root}, {in, top}} {
+			if isRight(c.l, c.root) {
+				good++
+				wrong(t, show(c.l), c.l, c.root, api.OK)
+			} else {
+				wrong(t, show(c.l), c.l, c.root, api.ErrTree)
+			}
 		}
 	}
 	if good < 500 {

@@ -74,7 +74,7 @@ func partsOf(kind api.NodeKind) []part {
 	return nil
 }
 
-// Check tells whether a node is the root of a right tree.
+// Check tells whether a node is the root of a right tree: the program of its tokens.
 func Check(l []api.Node, root int) error {
 	if !isNode(l, root) {
 		return refuse(0, api.ErrTree)
@@ -84,8 +84,8 @@ func Check(l []api.Node, root int) error {
 	for _, i := range tree {
 		groups[i] = groupOf(l, i, groups)
 	}
-	// A node above one that is not right is not right.
-	if groups[root] == noGroup {
+	// A node above one that is not right is not right; and a phrase of a program, right as it may be, is none that a program's tokens have as their tree.
+	if groups[root] != aProgram {
 		return refuse(0, api.ErrTree)
 	}
 	return limit(l, tree)
