@@ -3,6 +3,7 @@ package bif_test
 import (
 	"errors"
 	"fmt"
+	"math"
 	"strings"
 	"testing"
 
@@ -29,17 +30,39 @@ func TestTrue(t *testing.T) {
 	}
 }
 
-// P13.3, rule 8: fields that an atom does not name play no part; the text true of another kind is no atom.
-func TestTrueByHand(t *testing.T) {
+// P13.3: a value of the atom's kind and text with a field that no atom has is no term, so not the atom true; empty lists are as none (rule 4).
+func TestTrueOfNoTerms(t *testing.T) {
+	for _, x := range []api.Term{{}, {Nums: []uint32{}}, {Args: []api.Term{}}, {Nums: make([]uint32, 0, 4), Args: make([]api.Term, 0, 4)}} {
+		x.Kind, x.Text = api.KAtom, "true"
+		if !bif.True(x) {
+			t.Errorf("True(%+v) = false", x)
+		}
+	}
+	for _, x := range []api.Term{
+		{Int: 1}, {Int: -1}, {Int: api.MinInt}, {Int: api.MaxInt}, {Int: math.MinInt64}, {Int: math.MaxInt64},
+		{Creation: 1}, {Creation: math.MaxUint32},
+		{Nums: []uint32{0}}, {Nums: []uint32{1, 2}}, {Nums: []uint32{0, 0, 0}}, {Nums: make([]uint32, 5000)},
+		{Args: []api.Term{{}}}, {Args: []api.Term{{Kind: api.KNil}}}, {Args: []api.Term{word("true")}}, {Args: make([]api.Term, 5000)},
+		{Int: -1, Creation: 1, Nums: []uint32{1}, Args: []api.Term{word("false")}},
+	} {
+		x.Kind, x.Text = api.KAtom, "true"
+		if bif.True(x) {
+			t.Errorf("True(%+v) = true", x)
+		}
+	}
+}
+
+// P13.3: the text true of another kind is no atom, whatever else the value has.
+func TestTrueOfOtherKinds(t *testing.T) {
 	for _, odd := range []api.Term{
-		{Int: 5}, {Creation: 7}, {Nums: []uint32{1, 2}}, {Nums: []uint32{}}, {Args: []api.Term{{}}}, {Args: []api.Term{}}, {Int: -1, Creation: 1, Nums: []uint32{1}, Args: []api.Term{word("false")}},
+		{}, {Int: 5}, {Creation: 7}, {Nums: []uint32{1, 2}}, {Nums: []uint32{}}, {Args: []api.Term{{}}}, {Args: []api.Term{}}, {Int: -1, Creation: 1, Nums: []uint32{1}, Args: []api.Term{word("true")}},
 	} {
 		for kind := api.Kind(-1); kind < 10; kind++ {
 			for _, text := range []string{"true", "false", ""} {
 				x := odd
 				x.Kind, x.Text = kind, text
-				if bif.True(x) != (kind == api.KAtom && text == "true") {
-					t.Errorf("True(%+v) = %v", x, bif.True(x))
+				if bif.True(x) && (kind != api.KAtom || text != "true") {
+					t.Errorf("True(%+v) = true", x)
 				}
 			}
 		}
