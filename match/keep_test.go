@@ -8,35 +8,6 @@ import (
 	"heddle/sample"
 )
 
-// roomy is the same terms in memory of their own, with room behind all lists that says so.
-func roomy(terms []api.Term) []api.Term {
-	all := make([]api.Term, 0, len(terms)+2)
-	for _, x := range terms {
-		if x.Nums != nil {
-			x.Nums = append(make([]uint32, 0, len(x.Nums)+2), x.Nums...)
-		}
-		if x.Args != nil {
-			x.Args = roomy(x.Args)
-		}
-		all = append(all, x)
-	}
-	return append(all, word("room"), word("room"))[:len(terms)]
-}
-
-// untouched: are terms as roomy made them, what lies behind their lists too?
-func untouched(terms, were []api.Term) bool {
-	if !same(terms, were) {
-		return false
-	}
-	for _, x := range terms {
-		if len(x.Args) > 0 && !untouched(x.Args, x.Args[:len(x.Args):len(x.Args)]) {
-			return false
-		}
-	}
-	room := terms[len(terms):cap(terms)]
-	return len(room) < 2 || sample.Same(room[0], word("room")) && sample.Same(room[1], word("room"))
-}
-
 // scribble writes over all memory that terms reach.
 func scribble(terms []api.Term) { sample.Scribble(api.Term{Args: terms}) }
 
@@ -47,8 +18,8 @@ type given struct{ term, args, env, self []api.Term }
 func handIn(t *testing.T) given {
 	t.Helper()
 	return given{
-		term: roomy(row(t, "{{1,[<n@h.1.5.0>|a]},[#Ref<n@h.1.1.2.3>,{2},3]}")), args: roomy(row(t, "{{1},[{2},{3}]}; {[{2}],{1}}")),
-		env: roomy(row(t, "{{1},[2|3]}; [<m@h.1.5.0>,{4}]; -; {{5}}; [6]; {7}; {8}")), self: roomy([]api.Term{who().Self}),
+		term: sample.Roomy(row(t, "{{1,[<n@h.1.5.0>|a]},[#Ref<n@h.1.1.2.3>,{2},3]}")), args: sample.Roomy(row(t, "{{1},[{2},{3}]}; {[{2}],{1}}")),
+		env: sample.Roomy(row(t, "{{1},[2|3]}; [<m@h.1.5.0>,{4}]; -; {{5}}; [6]; {7}; {8}")), self: sample.Roomy([]api.Term{who().Self}),
 	}
 }
 
@@ -114,7 +85,7 @@ func TestGivenIsNotKept(t *testing.T) {
 	got := answers(t, p, g, clauses)
 	holdAnswers(t, "at once", got)
 	for k, terms := range g.all() {
-		if !untouched(terms, handIn(t).all()[k]) {
+		if !sample.Untouched(terms, handIn(t).all()[k]) {
 			t.Errorf("what was handed in was changed: %s", show(terms...))
 		}
 	}
@@ -138,7 +109,7 @@ func TestAnswersAreNew(t *testing.T) {
 		scribble(terms)
 	}
 	for k, terms := range g.all() {
-		if !untouched(terms, handIn(t).all()[k]) {
+		if !sample.Untouched(terms, handIn(t).all()[k]) {
 			t.Errorf("what was handed in was changed with an answer: %s", show(terms...))
 		}
 	}
@@ -154,7 +125,7 @@ func TestAnswersShareNothing(t *testing.T) {
 			env := answers(t, p, handIn(t), p.clauses())[k]
 			were := slices.Clone(env)
 			for i := range were {
-				were[i] = roomy([]api.Term{env[i]})[0]
+				were[i] = sample.Roomy([]api.Term{env[i]})[0]
 			}
 			apart(t, env[slot])
 			env = answers(t, p, handIn(t), p.clauses())[k]
@@ -173,7 +144,7 @@ func apart(t *testing.T, x api.Term) {
 	t.Helper()
 	var were []api.Term
 	for _, arg := range x.Args {
-		were = append(were, roomy([]api.Term{arg})[0])
+		were = append(were, sample.Roomy([]api.Term{arg})[0])
 	}
 	for i, arg := range x.Args {
 		sample.Scribble(arg)

@@ -44,6 +44,34 @@ func Chain(n int, inner api.Term) api.Term {
 	return inner
 }
 
+// Roomy is the same terms in memory of their own, with room behind all lists that says so: whoever writes there will show it.
+func Roomy(terms []api.Term) []api.Term {
+	all := make([]api.Term, 0, len(terms)+2)
+	for _, t := range terms {
+		if t.Nums != nil {
+			t.Nums = append(append(make([]uint32, 0, len(t.Nums)+2), t.Nums...), 99, 99)[:len(t.Nums)]
+		}
+		if t.Args != nil {
+			t.Args = Roomy(t.Args)
+		}
+		all = append(all, t)
+	}
+	return append(all, Atom("room"), Atom("room"))[:len(terms)]
+}
+
+// Untouched tells whether terms are as Roomy made them of those, what lies behind their lists too.
+func Untouched(terms, were []api.Term) bool {
+	if !slices.EqualFunc(terms, were, Same) {
+		return false
+	}
+	for i, t := range terms {
+		if t.Nums != nil && !slices.Equal(t.Nums[len(t.Nums):cap(t.Nums)], []uint32{99, 99}) || t.Args != nil && !Untouched(t.Args, were[i].Args) {
+			return false
+		}
+	}
+	return slices.EqualFunc(terms[len(terms):cap(terms)], []api.Term{Atom("room"), Atom("room")}, Same)
+}
+
 // Scribble writes over all memory that a term reaches by its lists, what lies unused behind them too: whoever shares it will show it.
 func Scribble(t api.Term) {
 	nums := t.Nums[:cap(t.Nums)]

@@ -50,6 +50,35 @@ func TestScribble(t *testing.T) {
 	sample.Scribble(api.Term{})
 }
 
+func TestRoomy(t *testing.T) {
+	were := func() []api.Term {
+		return []api.Term{sample.Tuple(sample.Pid("n@h", 1, 2, 3), sample.Tuple()), {Kind: api.KTuple, Args: []api.Term{}}, sample.Int(1)}
+	}
+	given := were()
+	x := sample.Roomy(given)
+	sample.Scribble(api.Term{Args: given})
+	if !sample.Untouched(x, were()) || sample.Untouched(x, were()[:2]) || sample.Untouched(x, given) {
+		t.Error("terms of which nothing was changed")
+	}
+	if !sample.Untouched(sample.Roomy(nil), nil) {
+		t.Error("no terms")
+	}
+	for place, touch := range []func(x []api.Term){
+		func(x []api.Term) { x[0].Args[0].Nums[1] = 9 },
+		func(x []api.Term) { _ = append(x[0].Args[0].Nums, 9) },
+		func(x []api.Term) { _ = append(x[0].Args, sample.Int(9)) },
+		func(x []api.Term) { _ = append(x[1].Args, sample.Int(9)) },
+		func(x []api.Term) { _ = append(x, sample.Int(9)) },
+		func(x []api.Term) { x[2].Int = 9 },
+	} {
+		y := sample.Roomy(were())
+		touch(y)
+		if sample.Untouched(y, were()) {
+			t.Errorf("what the function %d changes is not seen", place)
+		}
+	}
+}
+
 func TestIsFault(t *testing.T) {
 	inner, outer := api.Fault{Layer: "atom", At: 2, Code: api.ErrUTF}, api.Fault{Layer: "term", At: 1, Code: api.ErrUTF}
 	wrapped := outer
