@@ -68,9 +68,8 @@ func TestLastCalls(t *testing.T) {
 		c := made(t, "-module(m). -export([f/1, g/1]). "+forms+map[bool]string{true: "", false: " g(X) -> X."}[strings.Contains(forms, " g(")])
 		const often = api.MaxFrames + 100
 		o := &outside{plan: &feed{script{t, nil}}, most: 10 * often}
-		m := newMachine(c, o)
-		if reason := m.run("m", "f", []api.Term{num(often)}); show(reason) != "normal" || o.counted < often || m.deepest != 1 {
-			t.Errorf("%s: %s, %d counted, %d frames", forms, show(reason), o.counted, m.deepest)
+		if reason := byCode(c, "m", "f", []api.Term{num(often)})(o); show(reason) != "normal" || o.counted < often || o.deepest != 1 {
+			t.Errorf("%s: %s, %d counted, %d frames", forms, show(reason), o.counted, o.deepest)
 		}
 	}
 }

@@ -9,6 +9,7 @@ import (
 	"heddle/api"
 	"heddle/compile"
 	"heddle/lex"
+	"heddle/luck"
 )
 
 // sameEvents holds that processes of two programs do the same, by some calls; it tells how many events were seen.
@@ -53,7 +54,7 @@ func TestNamesPlayNoPart(t *testing.T) {
 	}
 	events := 0
 	for seed := range int64(150) {
-		text := someSource(rand.New(rand.NewSource(seed)), 2+int(seed%3))
+		text := luck.Source(rand.New(rand.NewSource(seed)).Intn, 2+int(seed%3))
 		events += sameEvents(t, text, renamed(t, text, others[seed%3]), 1000*seed)
 	}
 	if events < 2000 {
@@ -89,7 +90,7 @@ func TestOrderPlaysNoPart(t *testing.T) {
 	events := 0
 	for seed := range int64(150) {
 		r := rand.New(rand.NewSource(seed))
-		forms := someForms(r, 2+int(seed%3))
+		forms := luck.Forms(r.Intn, 2+int(seed%3))
 		events += sameEvents(t, strings.Join(forms, "\n"), shuffledForms(r, forms, seed%2 == 0), 1000*seed)
 	}
 	if events < 2000 {
@@ -108,7 +109,7 @@ func TestOrderPlaysNoPart(t *testing.T) {
 // Rule 5: what is answered hangs on the text alone.
 func TestAgain(t *testing.T) {
 	for seed := range int64(20) {
-		text := someSource(rand.New(rand.NewSource(seed)), 4)
+		text := luck.Source(rand.New(rand.NewSource(seed)).Intn, 4)
 		want := printed(t, made(t, text))
 		for range 3 {
 			if _, err := compile.Source("-module(m). f() -> X."); err == nil {

@@ -6,6 +6,7 @@ import (
 
 	"heddle/api"
 	"heddle/compile"
+	"heddle/luck"
 	"heddle/parse"
 )
 
@@ -20,7 +21,7 @@ func someCall(r *rand.Rand) (string, []api.Term) {
 	}
 	var args []api.Term
 	for range map[string]int{"f": 1 + r.Intn(2), "g": 0, "h": 1}[name] {
-		args = append(args, someTerm(r, 2))
+		args = append(args, luck.Term(r.Intn, 2))
 	}
 	return name, args
 }
@@ -52,7 +53,7 @@ func TestByLuck(t *testing.T) {
 		programs = 100
 	}
 	for seed := range int64(programs) {
-		text := someSource(rand.New(rand.NewSource(seed)), 2+int(seed%3))
+		text := luck.Source(rand.New(rand.NewSource(seed)).Intn, 2+int(seed%3))
 		events += holdLuck(t, text, made(t, text), 1000*seed, 20)
 	}
 	if events < 50*programs {
@@ -63,7 +64,7 @@ func TestByLuck(t *testing.T) {
 // FuzzSource: any text is refused or has code that is well formed and does what its tree says.
 func FuzzSource(f *testing.F) {
 	for seed := range int64(20) {
-		f.Add(someSource(rand.New(rand.NewSource(seed)), 2+int(seed%3)), seed)
+		f.Add(luck.Source(rand.New(rand.NewSource(seed)).Intn, 2+int(seed%3)), seed)
 	}
 	f.Add("-module(m). -export([f/1]). f(X) -> receive {X, Y} -> Y after Y = X -> Y end.", int64(1))
 	f.Fuzz(func(t *testing.T, text string, seed int64) {

@@ -7,7 +7,7 @@ import (
 	"testing"
 
 	"heddle/api"
-	"heddle/sample"
+	"heddle/luck"
 	"heddle/term"
 )
 
@@ -17,8 +17,10 @@ type outside struct {
 	box     box
 	clock   int
 	counted int
-	most    int // so many are counted at most
+	most    int // so many are counted, or a few more
 	seen    []string
+	since   int // what was counted when the last event was seen
+	deepest int // how many frames were seen at most
 }
 
 // plan says what comes when.
@@ -45,16 +47,24 @@ func watch(o *outside, run func(o *outside) api.Term) (events string) {
 
 func (o *outside) tell(event string) {
 	o.seen = append(o.seen, event+" "+strconv.Itoa(o.counted))
+	o.since = o.counted
 }
 
-// count is called ahead of each that is counted.
+// count is called ahead of each that is counted. The first one behind an event follows at once, as in a slice of a process.
 func (o *outside) count() {
-	if o.counted == o.most {
+	if o.counted > o.since {
+		o.pause()
+	}
+	o.counted++
+}
+
+// pause is ahead of what is counted.
+func (o *outside) pause() {
+	if o.counted >= o.most {
 		o.tell("enough")
 		panic(over{})
 	}
 	o.atCount(o)
-	o.counted++
 }
 
 // act asks for an answer; what a process knows itself is answered at once.
@@ -205,44 +215,44 @@ func (s *script) atWait(o *outside) bool {
 	return more
 }
 
-// luck is a plan by chance, the same for all processes of a seed that do the same.
-type luck struct {
+// byChance is a plan by chance, the same for all processes of a seed that do the same.
+type byChance struct {
 	r     *rand.Rand
 	waits int
 }
 
 func byLuck(seed int64) *outside {
-	o := &outside{plan: &luck{rand.New(rand.NewSource(seed)), 0}, most: 120}
+	o := &outside{plan: &byChance{rand.New(rand.NewSource(seed)), 0}, most: 120}
 	o.clock = int(seed % 3)
 	o.atWait(o)
 	return o
 }
 
-func (l *luck) some(o *outside) {
+func (l *byChance) some(o *outside) {
 	if l.r.Intn(3) == 0 {
-		o.box.put(someTerm(l.r, 2))
+		o.box.put(luck.Term(l.r.Intn, 2))
 	}
 	if l.r.Intn(3) == 0 {
 		o.clock += l.r.Intn(4)
 	}
 }
 
-func (l *luck) atCount(o *outside) {
+func (l *byChance) atCount(o *outside) {
 	if l.r.Intn(4) == 0 {
 		l.some(o)
 	}
 }
 
-func (l *luck) atAct(o *outside) (string, api.Term) {
+func (l *byChance) atAct(o *outside) (string, api.Term) {
 	l.some(o)
 	class := ""
 	if l.r.Intn(5) == 0 {
 		class = [...]string{"error", "exit", "throw"}[l.r.Intn(3)]
 	}
-	return class, someTerm(l.r, 2)
+	return class, luck.Term(l.r.Intn, 2)
 }
 
-func (l *luck) atWait(o *outside) bool {
+func (l *byChance) atWait(o *outside) bool {
 	l.some(o)
 	l.some(o)
 	if o.box.timed && l.r.Intn(3) == 0 {
@@ -250,27 +260,4 @@ func (l *luck) atWait(o *outside) bool {
 	}
 	l.waits++
 	return l.waits < 12
-}
-
-// someTerm is a term of those that programs of chance ask for.
-func someTerm(r *rand.Rand, depth int) api.Term {
-	var parts []api.Term
-	if depth > 0 {
-		for range r.Intn(4) {
-			parts = append(parts, someTerm(r, depth-1))
-		}
-	}
-	switch n := r.Intn(12); {
-	case n < 3 && len(parts) > 0:
-		return tuple(parts...)
-	case n < 5 && len(parts) > 1 && parts[len(parts)-1].Kind != api.KList:
-		return sample.List(parts...)
-	case n < 6 && len(parts) > 0:
-		return sample.List(append(parts, sample.Nil())...)
-	case n < 8:
-		return num(int64(r.Intn(4)) - 1)
-	case n < 9:
-		return sample.Nil()
-	}
-	return word([...]string{"a", "b", "true", "false", "infinity"}[r.Intn(5)])
 }

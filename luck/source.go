@@ -1,17 +1,20 @@
-package compile_test
+// Package luck makes programs and terms by chance, for tests. What is chosen is the caller's: Choose tells a number from 0 to below n, and the same numbers make the same things.
+package luck
 
 import (
-	"fmt"
 	"maps"
-	"math/rand"
+	"strconv"
 	"strings"
 )
+
+// Choose is a number from 0 to below n, which is above 0.
+type Choose func(n int) int
 
 // How a name stands at a place.
 const (
 	unbound = iota
 	bound
-	unsafe
+	partly // on some ways alone
 )
 
 // standings are those of names; who is not in it, is unbound.
@@ -23,7 +26,7 @@ func join(a, b standings) standings {
 	for _, name := range pool() {
 		both[name] = a[name]
 		if a[name] != b[name] {
-			both[name] = unsafe
+			both[name] = partly
 		}
 	}
 	return both
@@ -34,17 +37,17 @@ func pool() []string { return []string{"A", "B", "C", "D", "E"} }
 
 // writer writes texts of right programs by chance.
 type writer struct {
-	r         *rand.Rand
+	choose    Choose
 	names     standings
 	functions []string // of the module at hand, with their arities: f/1
 }
 
-// someSource is a program's text: f/1, f/2 and g/0 of module m are exported, and p/1 of module k.
-func someSource(r *rand.Rand, depth int) string { return strings.Join(someForms(r, depth), "\n") }
+// Source is the text of a right program: f/1, f/2 and g/0 of module m are exported, and p/1 of module k.
+func Source(choose Choose, depth int) string { return strings.Join(Forms(choose, depth), "\n") }
 
-// someForms are the forms of such a text: of m, then of k, the names of the modules ahead.
-func someForms(r *rand.Rand, depth int) []string {
-	w := &writer{r: r}
+// Forms are the forms of such a text: of m, then of k, the names of the modules ahead.
+func Forms(choose Choose, depth int) []string {
+	w := &writer{choose: choose}
 	return append(w.module("m", "f/1, f/2, g/0", []string{"f/1", "f/2", "g/0", "h/1"}, depth), w.module("k", "p/1", []string{"p/1", "q/2"}, depth)...)
 }
 
@@ -59,7 +62,7 @@ func (w *writer) module(name, exports string, functions []string, d int) []strin
 
 func (w *writer) function(name string, arity, d int) string {
 	var clauses []string
-	for range 1 + w.r.Intn(3) {
+	for range 1 + w.choose(3) {
 		w.names = standings{}
 		head := name + "(" + strings.Join(w.several(arity, func() string { return w.pattern(d - 1) }), ", ") + ")"
 		clauses = append(clauses, head+w.guard(d-1)+" -> "+w.body(d))
@@ -75,9 +78,9 @@ func (w *writer) function(name string, arity, d int) string {
 	return strings.Join(clauses, "; ") + "."
 }
 
-func (w *writer) chance(one int) bool { return w.r.Intn(one) == 0 }
+func (w *writer) chance(one int) bool { return w.choose(one) == 0 }
 
-func (w *writer) pick(all ...string) string { return all[w.r.Intn(len(all))] }
+func (w *writer) pick(all ...string) string { return all[w.choose(len(all))] }
 
 func (w *writer) several(n int, phrase func() string) []string {
 	var all []string
@@ -88,7 +91,7 @@ func (w *writer) several(n int, phrase func() string) []string {
 }
 
 func (w *writer) row(least, most int, phrase func() string) string {
-	return strings.Join(w.several(least+w.r.Intn(most-least+1), phrase), ", ")
+	return strings.Join(w.several(least+w.choose(most-least+1), phrase), ", ")
 }
 
 func (w *writer) body(d int) string {
@@ -131,7 +134,7 @@ func (w *writer) pattern(d int) string {
 		w.names[name] = bound
 		return name
 	}
-	switch n := w.r.Intn(10); {
+	switch n := w.choose(10); {
 	case n < 2:
 		return "_"
 	case n < 5 || d <= 0:
@@ -152,13 +155,13 @@ func (w *writer) guard(d int) string {
 	if !w.chance(3) {
 		return ""
 	}
-	rows := w.several(1+w.r.Intn(2), func() string { return w.row(1, 2, func() string { return w.test(d) }) })
+	rows := w.several(1+w.choose(2), func() string { return w.row(1, 2, func() string { return w.test(d) }) })
 	return " when " + strings.Join(rows, "; ")
 }
 
 func (w *writer) test(d int) string {
 	again := func() string { return w.test(d - 1) }
-	switch n := w.r.Intn(14); {
+	switch n := w.choose(14); {
 	case n < 3:
 		return w.pick("true", "true", "false", w.leaf())
 	case n < 4 || d <= 0:
@@ -212,7 +215,7 @@ func (w *writer) clause(d int, class string) func() string {
 
 func (w *writer) clauses(d int) []func() string {
 	var all []func() string
-	for range 1 + w.r.Intn(3) {
+	for range 1 + w.choose(3) {
 		all = append(all, w.clause(d, ""))
 	}
 	return all
@@ -228,7 +231,7 @@ func (w *writer) phrase(d int) string {
 	if d <= 0 {
 		return w.leaf()
 	}
-	switch w.r.Intn(24) {
+	switch w.choose(24) {
 	case 0, 1:
 		return w.leaf()
 	case 2:
@@ -275,7 +278,7 @@ func (w *writer) call(d int) string {
 	arguments := func(arity int) string {
 		return "(" + strings.Join(w.several(arity, func() string { return w.phrase(d - 1) }), ", ") + ")"
 	}
-	switch n := w.r.Intn(14); {
+	switch n := w.choose(14); {
 	case n < 4:
 		f := w.pick(w.functions...)
 		return f[:1] + arguments(int(f[2]-'0'))
@@ -302,10 +305,10 @@ func (w *writer) call(d int) string {
 func (w *writer) try(d int) string {
 	ahead := maps.Clone(w.names)
 	body := w.body(d)
-	// What the body binds is unsafe in the clauses, and behind them all that any way binds.
+	// What the body binds may not be used in the clauses, and behind them nothing that any way binds.
 	w.names = join(ahead, w.names)
 	var clauses []func() string
-	for range 1 + w.r.Intn(3) {
+	for range 1 + w.choose(3) {
 		clauses = append(clauses, w.clause(d, w.pick("", "throw:", "error:", "exit:", "_:", "_:")))
 	}
 	texts := w.perhaps(clauses...)
@@ -341,5 +344,5 @@ func (w *writer) time(d int) string {
 	}
 	name := w.pick(names...)
 	w.names[name] = bound
-	return fmt.Sprintf("begin %s, %s = %d end", phrase, name, w.r.Intn(4))
+	return "begin " + phrase + ", " + name + " = " + strconv.Itoa(w.choose(4)) + " end"
 }
