@@ -93,6 +93,8 @@ func TestBelowTheHandler(t *testing.T) {
 		{"f 0 0: const 0; try 5; pop; const 1; raise 0; tuple 3; raise 1", "{b,b,error} 0"},
 		{"f 0 0: const 0; const 1; try 7; pop; pop; const 2; raise 2; tuple 4; raise 1", "{c,b,c,throw} 0"},
 		{"f 0 0: const 0; const 1; guard 6; pop; const 2; raise 2; tuple 2; raise 1", "{a,c} 0"},
+		{"f 0 0: const 0; const 1; guard 7; pop; pop; const 2; raise 2; raise 1", "b 0"},
+		{"f 0 0: const 0; const 1; guard 7; pop; pop; const 2; raise 2; pop; raise 1", "c 0"},
 	}...)
 }
 
