@@ -66,7 +66,7 @@ func (r *run) mayGoOn(in api.Insn, at int) bool {
 	return true
 }
 
-// isCounted: without those that are, nobody could go round for ever.
+// isCounted: whoever goes round does one of these each time, so that a run ends.
 func isCounted(in api.Insn, at int) bool {
 	switch in.Op {
 	case api.CCall, api.CTail, api.CRemote, api.CLeave, api.CSend, api.CAct:
