@@ -40,7 +40,7 @@ func agree(t *testing.T, c api.Code) bool {
 	if s != modelPrint(c) || err != nil {
 		t.Errorf("Print = %q, %v; want %q", s, err, modelPrint(c))
 	}
-	if d, err := code.Read(s); !same(d, c) || err != nil {
+	if d, err := code.Read(s); !sample.SameCode(d, c) || err != nil {
 		t.Errorf("Read(%q) = %v, %v", s, d, err)
 	}
 	for i, m := range c.Mods {
@@ -190,7 +190,7 @@ func TestThereAndBack(t *testing.T) {
 			t.Fatal(err)
 		}
 		d, err := code.Read(s)
-		if !same(c, d) || err != nil {
+		if !sample.SameCode(c, d) || err != nil {
 			t.Errorf("Read(%.200q): %v", s, err)
 		}
 		if again, err := code.Print(d); again != s || err != nil {

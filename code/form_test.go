@@ -30,29 +30,6 @@ func several(n int) []api.Fun {
 	return funs
 }
 
-// noTerms are what no constant may be, with the faults that are told of each.
-func noTerms() []struct {
-	t     api.Term
-	under []api.Fault
-} {
-	one := func(at int, code api.Errno) []api.Fault { return []api.Fault{{Layer: "term", At: at, Code: code}} }
-	two := func(at int, code api.Errno, in int) []api.Fault {
-		return append(one(at, code), api.Fault{Layer: "atom", At: in, Code: code})
-	}
-	itself := make([]api.Term, 1)
-	itself[0] = api.Term{Kind: api.KTuple, Args: itself}
-	return []struct {
-		t     api.Term
-		under []api.Fault
-	}{
-		{api.Term{}, one(0, api.ErrTerm)}, {api.Term{Kind: 8}, one(0, api.ErrTerm)}, {api.Term{Kind: api.KInt, Text: "x"}, one(0, api.ErrTerm)},
-		{num(api.MaxInt + 1), one(0, api.ErrRange)}, {num(api.MinInt - 1), one(0, api.ErrRange)},
-		{word("a\xff"), two(0, api.ErrUTF, 1)}, {word(strings.Repeat("a", 256)), two(0, api.ErrLong, 0)}, {pid("nh", 1, 5, 0), two(0, api.ErrName, 0)},
-		{tuple(word("a"), word("b"), word("\xff")), two(3, api.ErrUTF, 0)}, {list(num(1), list(num(2), null())), one(0, api.ErrTerm)},
-		{tuple(sample.Ones(api.MaxSize)...), one(api.MaxSize, api.ErrMany)}, {sample.Chain(api.MaxDepth, num(1)), one(api.MaxDepth, api.ErrDeep)}, {api.Term{Kind: api.KTuple, Args: itself}, one(api.MaxDepth, api.ErrDeep)},
-	}
-}
-
 // P15.2, 1: how many modules and constants there may be; ahead of constants that are no terms.
 func TestCheckMany(t *testing.T) {
 	well(t, api.Code{})
@@ -69,12 +46,12 @@ func TestCheckMany(t *testing.T) {
 
 // P15.2, 1: the first constant that is no term, with term's fault under; ahead of all that modules have.
 func TestCheckConstants(t *testing.T) {
-	for _, x := range noTerms() {
+	for _, x := range append(sample.NoTerms(), sample.NoTerm{Value: sample.Itself(), Chain: []api.Fault{{Layer: "term", At: api.MaxDepth, Code: api.ErrDeep}}}) {
 		for place := range 4 {
-			c := api.Code{Consts: slices.Insert(sample.Ones(3), place, x.t), Mods: []api.Mod{{Name: "\xff"}}}
-			refuses(t, c, x.under[0].Code, place, x.under...)
+			c := api.Code{Consts: slices.Insert(sample.Ones(3), place, x.Value), Mods: []api.Mod{{Name: "\xff"}}}
+			refuses(t, c, x.Chain[0].Code, place, x.Chain...)
 			c.Consts = append(c.Consts, api.Term{}, word("\xff"))
-			refuses(t, c, x.under[0].Code, place, x.under...)
+			refuses(t, c, x.Chain[0].Code, place, x.Chain...)
 		}
 	}
 	c := api.Code{Consts: append(sample.Ones(api.MaxConsts-1), api.Term{})}

@@ -9,79 +9,10 @@ import (
 	"heddle/sample"
 )
 
-// roomy is the same program in memory of its own, with room behind all lists that says so.
-func roomy(c api.Code) api.Code {
-	d := api.Code{Consts: roomyTerms(c.Consts)}
-	for _, m := range c.Mods {
-		m.Exports = append(slices.Clone(m.Exports), 77)[:len(m.Exports)]
-		funs := make([]api.Fun, 0, len(m.Funs)+1)
-		for _, f := range m.Funs {
-			f.Code = append(slices.Clone(f.Code), api.Insn{Op: 77})[:len(f.Code)]
-			funs = append(funs, f)
-		}
-		m.Funs = append(funs, api.Fun{Name: "room"})[:len(funs)]
-		d.Mods = append(d.Mods, m)
-	}
-	d.Mods = append(d.Mods, api.Mod{Name: "room"})[:len(d.Mods)]
-	return d
-}
-
-func roomyTerms(terms []api.Term) []api.Term {
-	all := make([]api.Term, 0, len(terms)+1)
-	for _, t := range terms {
-		t.Nums = slices.Clone(t.Nums)
-		if t.Args != nil {
-			t.Args = roomyTerms(t.Args)
-		}
-		all = append(all, t)
-	}
-	return append(all, word("room"))[:len(terms)]
-}
-
-// untouched: is a program as roomy has made it, what lies behind its lists too?
-func untouched(c, was api.Code) bool {
-	if !same(c, was) || c.Mods[:len(c.Mods)+1][len(c.Mods)].Name != "room" || c.Consts[:len(c.Consts)+1][len(c.Consts)].Text != "room" {
-		return false
-	}
-	for _, m := range c.Mods {
-		if m.Exports[:len(m.Exports)+1][len(m.Exports)] != 77 || m.Funs[:len(m.Funs)+1][len(m.Funs)].Name != "room" {
-			return false
-		}
-		for _, f := range m.Funs {
-			if f.Code[:len(f.Code)+1][len(f.Code)].Op != 77 {
-				return false
-			}
-		}
-	}
-	return true
-}
-
-// scribble writes over all memory that a program reaches by its lists, what lies unused behind them too.
-func scribble(c api.Code) {
-	sample.Scribble(api.Term{Args: c.Consts})
-	for i := range c.Mods[:cap(c.Mods)] {
-		m := &c.Mods[:cap(c.Mods)][i]
-		for k := range m.Exports[:cap(m.Exports)] {
-			m.Exports[:cap(m.Exports)][k] = -5
-		}
-		for k := range m.Funs[:cap(m.Funs)] {
-			scribbleFun(&m.Funs[:cap(m.Funs)][k])
-		}
-		*m = api.Mod{Name: "scribbled"}
-	}
-}
-
-func scribbleFun(f *api.Fun) {
-	for k := range f.Code[:cap(f.Code)] {
-		f.Code[:cap(f.Code)][k] = api.Insn{Op: -5}
-	}
-	*f = api.Fun{Name: "scribbled"}
-}
-
 // Rule 4: what is handed in is not changed; and changed afterwards, it changes no answer, neither one that was told nor a later one.
 func TestGivenIsNotKept(t *testing.T) {
 	was, text := everything()
-	c := roomy(was)
+	c := sample.RoomyCode(was)
 	if err := code.Check(c); err != nil {
 		t.Fatal(err)
 	}
@@ -93,15 +24,15 @@ func TestGivenIsNotKept(t *testing.T) {
 	if s != text || err != nil {
 		t.Errorf("Print = %q, %v", s, err)
 	}
-	if !untouched(c, was) {
+	if !sample.UntouchedCode(c, was) {
 		t.Errorf("the program was changed:\n%s", show(c))
 	}
-	scribble(c)
+	sample.ScribbleCode(c)
 	if s != text {
 		t.Errorf("the text was changed with the program: %q", s)
 	}
 	again, _ := everything()
-	if s, err := code.Print(roomy(again)); s != text || err != nil {
+	if s, err := code.Print(sample.RoomyCode(again)); s != text || err != nil {
 		t.Errorf("Print, later: %q, %v", s, err)
 	}
 }
@@ -109,7 +40,7 @@ func TestGivenIsNotKept(t *testing.T) {
 // Rule 4: programs that are refused are not changed, either.
 func TestRefusedIsNotChanged(t *testing.T) {
 	for _, c := range []api.Code{of("take; pop"), of("load 0; return"), of("30"), prog(fun("f", 0, 0, "jump 0"), fun("f", 0, 0, "jump 0"))} {
-		d := roomy(c)
+		d := sample.RoomyCode(c)
 		for range 2 {
 			if code.Check(d) == nil {
 				t.Errorf("Check: nil, of\n%s", show(d))
@@ -121,7 +52,7 @@ func TestRefusedIsNotChanged(t *testing.T) {
 				t.Error("Print: nil")
 			}
 		}
-		if !untouched(d, c) {
+		if !sample.UntouchedCode(d, c) {
 			t.Errorf("the program was changed:\n%s", show(d))
 		}
 	}
@@ -138,11 +69,11 @@ func TestAnswersAreNew(t *testing.T) {
 	if err != nil {
 		t.Fatal(err)
 	}
-	scribble(first)
-	if !same(second, want) {
+	sample.ScribbleCode(first)
+	if !sample.SameCode(second, want) {
 		t.Errorf("one answer was changed with another:\n%s", show(second))
 	}
-	if third, err := code.Read(text); !same(third, want) || err != nil {
+	if third, err := code.Read(text); !sample.SameCode(third, want) || err != nil {
 		t.Errorf("Read, later: %v\n%s", err, show(third))
 	}
 	l := code.Acts()
@@ -174,9 +105,9 @@ func TestAnswersShareNothing(t *testing.T) {
 		back   func(c api.Code)
 	}{
 		{"a constant", func(c api.Code) { sample.Scribble(c.Consts[0]) }, func(c api.Code) { c.Consts[0] = want.Consts[0] }},
-		{"a list of exports", func(c api.Code) { m := c.Mods[0]; scribble(api.Code{Mods: []api.Mod{{Exports: m.Exports}}}) }, func(c api.Code) { c.Mods[0].Exports = want.Mods[0].Exports }},
-		{"a module", func(c api.Code) { m := c.Mods[0]; scribble(api.Code{Mods: []api.Mod{m}}) }, func(c api.Code) { c.Mods[0] = want.Mods[0] }},
-		{"a function", func(c api.Code) { scribbleFun(&c.Mods[1].Funs[0]) }, func(c api.Code) { c.Mods[1].Funs[0] = want.Mods[1].Funs[0] }},
+		{"a list of exports", func(c api.Code) { m := c.Mods[0]; sample.ScribbleCode(api.Code{Mods: []api.Mod{{Exports: m.Exports}}}) }, func(c api.Code) { c.Mods[0].Exports = want.Mods[0].Exports }},
+		{"a module", func(c api.Code) { m := c.Mods[0]; sample.ScribbleCode(api.Code{Mods: []api.Mod{m}}) }, func(c api.Code) { c.Mods[0] = want.Mods[0] }},
+		{"a function", func(c api.Code) { sample.ScribbleFun(&c.Mods[1].Funs[0]) }, func(c api.Code) { c.Mods[1].Funs[0] = want.Mods[1].Funs[0] }},
 	} {
 		c, err := code.Read(text)
 		if err != nil {
@@ -184,7 +115,7 @@ func TestAnswersShareNothing(t *testing.T) {
 		}
 		part.change(c)
 		part.back(c)
-		if !same(c, want) {
+		if !sample.SameCode(c, want) {
 			t.Errorf("more was changed than %s:\n%s", part.name, show(c))
 		}
 	}

@@ -17,7 +17,7 @@ func prints(t *testing.T, c api.Code, want string) {
 	if s, err := code.Print(c); s != want || err != nil {
 		t.Errorf("Print = %.2000q, %v; want %.2000q", s, err, want)
 	}
-	if d, err := code.Read(want); !same(d, c) || err != nil {
+	if d, err := code.Read(want); !sample.SameCode(d, c) || err != nil {
 		t.Errorf("Read(%.2000q) = %v; it is\n%s", want, err, show(d))
 	}
 }
@@ -107,7 +107,7 @@ func TestLong(t *testing.T) {
 		if len(s) != size || err != nil {
 			t.Errorf("Print of %d bytes: %d, %v", size, len(s), err)
 		}
-		if c, err := code.Read(s); !same(c, wide(size)) || err != nil {
+		if c, err := code.Read(s); !sample.SameCode(c, wide(size)) || err != nil {
 			t.Errorf("Read of %d bytes: %v", size, err)
 		}
 	}
@@ -116,7 +116,7 @@ func TestLong(t *testing.T) {
 			t.Errorf("Print of %d bytes: %d, %v", size, len(s), err)
 		}
 		for _, text := range []string{strings.Repeat("module m\n", size/9+1)[:size], strings.Repeat("\n", size), strings.Repeat("x", size)} {
-			if c, err := code.Read(text); !same(c, api.Code{}) || !sample.IsFault(err, fault(0, api.ErrLong)) {
+			if c, err := code.Read(text); !sample.SameCode(c, api.Code{}) || !sample.IsFault(err, fault(0, api.ErrLong)) {
 				t.Errorf("Read of %d bytes: %v", size, err)
 			}
 		}
@@ -125,10 +125,10 @@ func TestLong(t *testing.T) {
 	if err != nil {
 		t.Fatal(err)
 	}
-	if c, err := code.Read(s + "\n"); !same(c, api.Code{}) || !sample.IsFault(err, fault(0, api.ErrLong)) {
+	if c, err := code.Read(s + "\n"); !sample.SameCode(c, api.Code{}) || !sample.IsFault(err, fault(0, api.ErrLong)) {
 		t.Errorf("Read of one byte more: %v", err)
 	}
-	if c, err := code.Read(s[1:] + "\n"); !same(c, api.Code{}) || !sample.IsFault(err, fault(0, api.ErrLine)) {
+	if c, err := code.Read(s[1:] + "\n"); !sample.SameCode(c, api.Code{}) || !sample.IsFault(err, fault(0, api.ErrLine)) {
 		t.Errorf("Read of as many bytes, the first line wrong: %v", err)
 	}
 }

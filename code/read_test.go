@@ -16,7 +16,7 @@ import (
 func noLine(t *testing.T, text string, line int) {
 	t.Helper()
 	c, err := code.Read(text)
-	if !same(c, api.Code{}) || !sample.IsFault(err, fault(line, api.ErrLine)) {
+	if !sample.SameCode(c, api.Code{}) || !sample.IsFault(err, fault(line, api.ErrLine)) {
 		t.Errorf("Read(%q) = %v; want ErrLine at %d; it is\n%s", text, err, line, show(c))
 	}
 }
@@ -26,7 +26,7 @@ func reads(t *testing.T, text string) {
 	t.Helper()
 	want, refused := modelRead(text)
 	c, err := code.Read(text)
-	if toldOf(err) != refused || !same(c, want) || err != nil && !sample.IsFault(err, fault(refused.at, refused.code)) {
+	if toldOf(err) != refused || !sample.SameCode(c, want) || err != nil && !sample.IsFault(err, fault(refused.at, refused.code)) {
 		t.Errorf("Read(%q) = %v; want %v; it is\n%s", text, err, refused, show(c))
 	}
 }
@@ -165,7 +165,7 @@ func TestReadNoForms(t *testing.T) {
 
 // P15.5: the first line that is wrong is told, also ahead of programs that are not well formed; one without a byte 10 is wrong.
 func TestReadFirstLine(t *testing.T) {
-	if c, err := code.Read(""); !same(c, api.Code{}) || err != nil {
+	if c, err := code.Read(""); !sample.SameCode(c, api.Code{}) || err != nil {
 		t.Errorf("Read of nothing: %v", err)
 	}
 	for _, c := range []struct {
@@ -202,7 +202,7 @@ func TestReadNotWellFormed(t *testing.T) {
 		{strings.Repeat("const 1\n", 65537), api.ErrMany, 0}, {"module m\nfun f 0 0\n" + strings.Repeat(" take\n", 65537), api.ErrMany, 0},
 	} {
 		got, err := code.Read(c.text)
-		if !same(got, api.Code{}) || !sample.IsFault(err, fault(c.at, c.code)) {
+		if !sample.SameCode(got, api.Code{}) || !sample.IsFault(err, fault(c.at, c.code)) {
 			t.Errorf("Read(%.200q): %v; want %v at %d", c.text, err, c.code, c.at)
 		}
 	}
@@ -215,7 +215,7 @@ func TestReadNotWellFormed(t *testing.T) {
 		}
 	}
 	for _, text := range []string{mods.String(), funs.String()} {
-		if got, err := code.Read(text); !same(got, api.Code{}) || !sample.IsFault(err, fault(0, api.ErrMany)) {
+		if got, err := code.Read(text); !sample.SameCode(got, api.Code{}) || !sample.IsFault(err, fault(0, api.ErrMany)) {
 			t.Errorf("Read(%.100q): %v", text, err)
 		}
 	}

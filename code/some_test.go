@@ -76,15 +76,6 @@ func upTo(height int) string {
 	return strconv.Itoa(height) + "*const 0;"
 }
 
-// same: are programs the same, nil and empty lists being the same?
-func same(a, b api.Code) bool {
-	return slices.EqualFunc(a.Consts, b.Consts, sample.Same) && slices.EqualFunc(a.Mods, b.Mods, func(a, b api.Mod) bool {
-		return a.Name == b.Name && slices.Equal(a.Exports, b.Exports) && slices.EqualFunc(a.Funs, b.Funs, func(a, b api.Fun) bool {
-			return a.Name == b.Name && a.Arity == b.Arity && a.Locals == b.Locals && slices.Equal(a.Code, b.Code)
-		})
-	})
-}
-
 // fault is one of this layer, with nothing under it.
 func fault(at int, code api.Errno) api.Fault { return api.Fault{Layer: "code", At: at, Code: code} }
 

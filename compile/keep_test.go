@@ -55,27 +55,6 @@ func scribbleNodes(l []api.Node) {
 	}
 }
 
-// scribble writes over all memory that a program reaches by its lists, what lies unused behind them too.
-func scribble(c api.Code) {
-	sample.Scribble(api.Term{Args: c.Consts})
-	for _, m := range c.Mods {
-		for k := range m.Exports[:cap(m.Exports)] {
-			m.Exports[:cap(m.Exports)][k] = -5
-		}
-		for _, f := range m.Funs {
-			for k := range f.Code[:cap(f.Code)] {
-				f.Code[:cap(f.Code)][k] = api.Insn{Op: -5}
-			}
-		}
-		for k := range m.Funs[:cap(m.Funs)] {
-			m.Funs[:cap(m.Funs)][k] = api.Fun{Name: "scribbled"}
-		}
-	}
-	for k := range c.Mods[:cap(c.Mods)] {
-		c.Mods[:cap(c.Mods)][k] = api.Mod{Name: "scribbled"}
-	}
-}
-
 const keptText = "-module(m). -export([f/1, g/0]). f({X, Y}) when X > Y; X == self() -> receive {Y, Z} -> k:p(Z) after Z = 5 -> [k:p(X), k:q(), m:g() | Z] end; f(X) -> try g() catch exit:{X} -> {X, a, -1, []} end. g() -> 'A b'. -module(k). -export([p/1, q/0]). p(X) -> m:f(X). q() -> p(-1)."
 
 // Rule 4: nodes are not changed; and changed afterwards, they change no answer, neither one that was told nor a later one.
@@ -111,7 +90,7 @@ func TestAnswersAreNew(t *testing.T) {
 	one, _ := compile.Compile(l, root)
 	other, _ := compile.Compile(l, root)
 	text := printed(t, one)
-	scribble(one)
+	sample.ScribbleCode(one)
 	if got := printed(t, other); got != text || !untouched(l, was) {
 		t.Errorf("untouched: %v; %s\n want %s", untouched(l, was), got, text)
 	}

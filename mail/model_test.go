@@ -218,7 +218,7 @@ func luck(seed int64) *chance {
 		c.terms = append(c.terms, step{call: 'p', x: x})
 	}
 	for _, w := range wrongTerms() {
-		c.wrong = append(c.wrong, step{call: 'p', x: w.value, wrong: w.chain})
+		c.wrong = append(c.wrong, step{call: 'p', x: w.Value, wrong: w.Chain})
 	}
 	return c
 }

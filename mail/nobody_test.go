@@ -15,7 +15,7 @@ func nothing(t *testing.T, what string, b *mail.Box) {
 		refused(t, what+": Put", b.Put(x), api.ErrZero)
 	}
 	for _, wrong := range wrongTerms() {
-		refused(t, what+": Put", b.Put(wrong.value), api.ErrZero)
+		refused(t, what+": Put", b.Put(wrong.Value), api.ErrZero)
 	}
 	refused(t, what+": Next", b.Next(), api.ErrZero)
 	x, err := b.Take()

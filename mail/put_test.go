@@ -64,14 +64,14 @@ func refusesWrong(t *testing.T, b *mail.Box) {
 	t.Helper()
 	before := look(t, b)
 	for _, wrong := range wrongTerms() {
-		err := b.Put(wrong.value)
-		chain := append([]api.Fault{{Layer: "mail", Code: wrong.chain[0].Code}}, wrong.chain...)
+		err := b.Put(wrong.Value)
+		chain := sample.Under("mail", 0, wrong.Chain)
 		if !sample.IsFault(err, chain...) {
 			t.Errorf("Put: %v, want %+v", err, chain)
 			continue
 		}
-		if under := err.(*api.Fault).Under; !reflect.DeepEqual(under, term.Check(wrong.value)) {
-			t.Errorf("Put: %v lies under, but Check says %v", under, term.Check(wrong.value))
+		if under := err.(*api.Fault).Under; !reflect.DeepEqual(under, term.Check(wrong.Value)) {
+			t.Errorf("Put: %v lies under, but Check says %v", under, term.Check(wrong.Value))
 		}
 	}
 	shows(t, "Put of no terms", b, before)

@@ -155,40 +155,10 @@ func kinds() []api.Term {
 	}
 }
 
-// wrongTerm is a value that is no term, and why: what term.Check says of it, and what lies under that.
-type wrongTerm struct {
-	value api.Term
-	chain []api.Fault
-}
-
-func of(value api.Term, at int, code api.Errno) wrongTerm {
-	return wrongTerm{value, []api.Fault{{Layer: "term", At: at, Code: code}}}
-}
-
-// holdsItself is a tuple that is its own first part.
-func holdsItself() api.Term {
-	args := make([]api.Term, 1)
-	args[0] = tuple()
-	args[0].Args = args
-	return args[0]
-}
-
-// wrongTerms have each fault that a term may have, at the first part and at later ones.
-func wrongTerms() []wrongTerm {
-	long := string(make([]byte, api.MaxAtom+1))
-	return []wrongTerm{
-		of(api.Term{}, 0, api.ErrTerm), of(api.Term{Kind: 8}, 0, api.ErrTerm), of(api.Term{Kind: -1}, 0, api.ErrTerm),
-		of(api.Term{Kind: api.KInt, Int: 1, Text: "x"}, 0, api.ErrTerm), of(api.Term{Kind: api.KInt, Args: sample.Ones(1)}, 0, api.ErrTerm),
-		of(api.Term{Kind: api.KAtom, Text: "x", Int: 1}, 0, api.ErrTerm), of(api.Term{Kind: api.KAtom, Text: "x", Creation: 1}, 0, api.ErrTerm),
-		of(api.Term{Kind: api.KNil, Nums: []uint32{0}}, 0, api.ErrTerm), of(pid("n@h", 1, 2), 0, api.ErrTerm), of(ref("n@h", 1, 2, 3), 0, api.ErrTerm),
-		of(list(num(1)), 0, api.ErrTerm), of(list(), 0, api.ErrTerm), of(list(num(1), list(num(2), null())), 0, api.ErrTerm),
-		of(tuple(num(1), tuple(num(2), api.Term{})), 4, api.ErrTerm), of(tuple(num(1), api.Term{Kind: api.KNil, Args: sample.Ones(1)}), 2, api.ErrTerm),
-		of(num(api.MinInt-1), 0, api.ErrRange), of(num(api.MaxInt+1), 0, api.ErrRange), of(list(num(1), num(math.MaxInt64)), 2, api.ErrRange),
-		of(tuple(sample.Ones(api.MaxSize)...), api.MaxSize, api.ErrMany), of(sample.Chain(api.MaxDepth, num(1)), api.MaxDepth, api.ErrDeep), of(holdsItself(), api.MaxDepth, api.ErrDeep),
-		{word(long), []api.Fault{{Layer: "term", Code: api.ErrLong}, {Layer: "atom", Code: api.ErrLong}}},
-		{tuple(word("a\xff")), []api.Fault{{Layer: "term", At: 1, Code: api.ErrUTF}, {Layer: "atom", At: 1, Code: api.ErrUTF}}},
-		{tuple(num(1), pid("n", 1, 2, 3)), []api.Fault{{Layer: "term", At: 2, Code: api.ErrName}, {Layer: "atom", Code: api.ErrName}}},
-	}
+// wrongTerms are values that are no terms, one that holds itself among them.
+func wrongTerms() []sample.NoTerm {
+	itself := sample.NoTerm{Value: sample.Itself(), Chain: []api.Fault{{Layer: "term", At: api.MaxDepth, Code: api.ErrDeep}}}
+	return append(sample.NoTerms(), itself)
 }
 
 // noClocks are what now may not be, clocks what it may: the edges of both.
@@ -218,7 +188,7 @@ func noTimes() []api.Term {
 		num(api.MaxClock + 1), num(api.MaxInt), num(api.MaxInt + 1), num(math.MaxInt64), num(1 << 42),
 		word("foo"), word(""), word("Infinity"), word("infinit"), word("infinity "), word("infinity0"), word("0"), word("undefined"), word("\xff"), word(string(make([]byte, 300))),
 		tuple(), tuple(num(5)), tuple(word("infinity")), null(), list(num(5), null()), list(word("infinity"), null()),
-		pid("n@h", 1, 5, 0), ref("n@h", 1, 5, 0, 0), sample.Chain(api.MaxDepth+5, num(1)), holdsItself(), {},
+		pid("n@h", 1, 5, 0), ref("n@h", 1, 5, 0, 0), sample.Chain(api.MaxDepth+5, num(1)), sample.Itself(), {},
 	}
 	for _, kind := range []api.Kind{-1, 0, api.KRef, api.KPid, api.KTuple, api.KNil, api.KList, 8} {
 		all = append(all, api.Term{Kind: kind, Int: 5}, api.Term{Kind: kind, Text: "infinity"}, api.Term{Kind: kind, Int: 5, Text: "infinity"})

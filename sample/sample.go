@@ -91,6 +91,12 @@ func Same(a, b api.Term) bool {
 		slices.Equal(a.Nums, b.Nums) && slices.EqualFunc(a.Args, b.Args, Same)
 }
 
+// SameEvent tells whether all fields of two events are the same.
+func SameEvent(a, b api.Event) bool {
+	return a.Kind == b.Kind && a.Name == b.Name && slices.EqualFunc(a.Args, b.Args, Same) && Same(a.Reason, b.Reason) &&
+		a.Until == b.Until && a.Timed == b.Timed && a.Used == b.Used
+}
+
 // IsZero tells whether it is what stands beside an error.
 func IsZero(t api.Term) bool { return Same(t, api.Term{}) }
 

@@ -30,6 +30,22 @@ func TestSame(t *testing.T) {
 	}
 }
 
+func TestSameEvent(t *testing.T) {
+	all := []api.Event{
+		{}, {Kind: api.EvYield}, {Name: "!"}, {Args: sample.Ones(1)}, {Args: []api.Term{sample.Int(2)}}, {Reason: sample.Int(1)}, {Reason: sample.Int(2)}, {Until: 1}, {Timed: true}, {Used: 1},
+	}
+	for i, a := range all {
+		for j, b := range all {
+			if sample.SameEvent(a, b) != (i == j) {
+				t.Errorf("SameEvent(%v, %v) = %v", a, b, i != j)
+			}
+		}
+	}
+	if !sample.SameEvent(api.Event{}, api.Event{Args: []api.Term{}}) {
+		t.Error("nil and empty lists are not the same")
+	}
+}
+
 func TestKeepsNothing(t *testing.T) {
 	args, nums := sample.Ones(2), []uint32{1, 2}
 	x, y := sample.Tuple(args...), sample.Pid("n@h", 1, nums...)

@@ -23,7 +23,7 @@ func TestResume(t *testing.T) {
 		done(t, "Resume", v.Resume(x))
 		play(t, v, "is: ready 1 1 [m]", "resume a !360", "raise exit a !360")
 		e, err := v.Run(1, 3)
-		if err != nil || !sameEvent(e, api.Event{Kind: api.EvEnd, Reason: tuple(word("a"), x, word("b"))}) {
+		if err != nil || !sample.SameEvent(e, api.Event{Kind: api.EvEnd, Reason: tuple(word("a"), x, word("b"))}) {
 			t.Errorf("%s: %s, %v", show(x), tell(e), err)
 		}
 	}
@@ -36,14 +36,14 @@ func TestResume(t *testing.T) {
 // P18.3: values that are no terms: package term's fault under; nothing has changed.
 func TestResumeRefused(t *testing.T) {
 	v := asked(t)
-	for _, w := range wrongs() {
+	for _, w := range sample.NoTerms() {
 		before := look(t, v)
-		if err := v.Resume(w.value); !sample.IsFault(err, under(0, w.chain)...) {
-			t.Errorf("Resume(%v): %v", w.value, err)
+		if err := v.Resume(w.Value); !sample.IsFault(err, under(0, w.Chain)...) {
+			t.Errorf("Resume(%v): %v", w.Value, err)
 		}
 		for _, class := range []string{"error", "exit", "throw"} {
-			if err := v.Raise(class, w.value); !sample.IsFault(err, under(0, w.chain)...) {
-				t.Errorf("Raise(%s, %v): %v", class, w.value, err)
+			if err := v.Raise(class, w.Value); !sample.IsFault(err, under(0, w.Chain)...) {
+				t.Errorf("Raise(%s, %v): %v", class, w.Value, err)
 			}
 		}
 		if after := look(t, v); !after.same(before) {

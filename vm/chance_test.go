@@ -81,7 +81,7 @@ func (p *couple) run(t testing.TB, budget, now int) (api.EventKind, api.Errno) {
 	want, chain := p.m.run(budget, now)
 	got, err := p.v.Run(budget, now)
 	p.path = append(p.path, fmt.Sprintf("run %d %d: %s", budget, now, tell(want)))
-	if !sameEvent(got, want) {
+	if !sample.SameEvent(got, want) {
 		p.fatal(t, "the event is "+tell(got))
 	}
 	scribble(got.Args)
@@ -110,22 +110,22 @@ func (p *couple) put(t testing.TB, x api.Term) api.Errno {
 // chance makes calls: most of them are what a process is for, some are wrong.
 type chance struct {
 	choose luck.Choose
-	wrongs []wrong
+	wrongs []sample.NoTerm
 	now    int
 	events map[api.EventKind]int
 	codes  map[api.Errno]int
 }
 
 func chanceOf(choose luck.Choose) *chance {
-	return &chance{choose: choose, wrongs: wrongs(), events: map[api.EventKind]int{}, codes: map[api.Errno]int{}}
+	return &chance{choose: choose, wrongs: sample.NoTerms(), events: map[api.EventKind]int{}, codes: map[api.Errno]int{}}
 }
 
 func (c *chance) one(in int) bool { return c.choose(in) == 0 }
 
 // term is one; or, seldom, a value that is none.
 func (c *chance) term() api.Term {
-	if c.one(20) {
-		return c.wrongs[c.choose(len(c.wrongs))].value
+	if c.one(8) {
+		return c.wrongs[c.choose(len(c.wrongs))].Value
 	}
 	if c.one(6) {
 		return []api.Term{who().Self, sample.Ref("m@h", 1, 1, 2, 3), num(api.MaxClock), num(api.MaxInt)}[c.choose(4)]

@@ -113,7 +113,7 @@ func TestBifs(t *testing.T) {
 				raisedOf[reason.Text]++
 			}
 			e, err := start(t, c, args...).Run(1, 0)
-			if err != nil || !sameEvent(e, api.Event{Kind: api.EvEnd, Reason: want}) {
+			if err != nil || !sample.SameEvent(e, api.Event{Kind: api.EvEnd, Reason: want}) {
 				t.Fatalf("%s of %s: %s, %v, want %s", b.Name, showAll(args), tell(e), err, show(want))
 			}
 		}

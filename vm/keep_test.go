@@ -17,52 +17,6 @@ func deep() api.Term {
 	return tuple(who().Self, list(sample.Ref("n@h", 1, 1, 2, 3), tuple(num(2), tuple(pid("m@h", 2, 3, 4))), null()))
 }
 
-// roomy is the same code in memory of its own, with room behind its lists.
-func roomy(c api.Code) api.Code {
-	d := api.Code{Consts: sample.Roomy(c.Consts)}
-	for _, m := range c.Mods {
-		n := api.Mod{Name: m.Name, Exports: append(slices.Clone(m.Exports), 99)[:len(m.Exports)]}
-		for _, f := range m.Funs {
-			f.Code = append(slices.Clone(f.Code), api.Insn{Op: 99})[:len(f.Code)]
-			n.Funs = append(n.Funs, f)
-		}
-		n.Funs = append(n.Funs, api.Fun{Name: "room"})[:len(m.Funs)]
-		d.Mods = append(d.Mods, n)
-	}
-	d.Mods = append(d.Mods, api.Mod{Name: "room"})[:len(c.Mods)]
-	return d
-}
-
-// untouched: is code as roomy made it of that, what lies behind its lists too?
-func untouched(c, was api.Code) bool {
-	return sample.Untouched(c.Consts, was.Consts) && len(c.Mods) == len(was.Mods) && c.Mods[:len(c.Mods)+1][len(c.Mods)].Name == "room" &&
-		slices.EqualFunc(c.Mods, was.Mods, func(m, n api.Mod) bool {
-			return m.Name == n.Name && slices.Equal(m.Exports, n.Exports) && m.Exports[:len(m.Exports)+1][len(m.Exports)] == 99 && m.Funs[:len(m.Funs)+1][len(m.Funs)].Name == "room" &&
-				slices.EqualFunc(m.Funs, n.Funs, func(f, g api.Fun) bool {
-					return f.Name == g.Name && f.Arity == g.Arity && f.Locals == g.Locals && slices.Equal(f.Code, g.Code) && f.Code[:len(f.Code)+1][len(f.Code)].Op == 99
-				})
-		})
-}
-
-// scribbleCode writes over all memory that code reaches by its lists.
-func scribbleCode(c api.Code) {
-	scribble(c.Consts)
-	for i := range c.Mods {
-		m := &c.Mods[i]
-		for k := range m.Funs {
-			l := m.Funs[k].Code
-			for n := range l[:cap(l)] {
-				l[:cap(l)][n] = api.Insn{Op: api.CRaise, A: 7, B: 7}
-			}
-			m.Funs[k] = api.Fun{Name: "scribbled", Arity: 3}
-		}
-		for n := range m.Exports {
-			m.Exports[n] = 77
-		}
-		*m = api.Mod{Name: "scribbled"}
-	}
-}
-
 // Rule 4: code, args and who are neither changed nor kept: who changes them afterwards changes nothing in the process.
 func TestKeepsNothingOfNew(t *testing.T) {
 	c := chanceOf(rand.New(rand.NewSource(4)).Intn)
@@ -71,19 +25,19 @@ func TestKeepsNothingOfNew(t *testing.T) {
 		if seed%3 == 0 {
 			clean = compiled(t, seed)
 		}
-		program, args := roomy(clean), sample.Roomy([]api.Term{deep()})
+		program, args := sample.RoomyCode(clean), sample.Roomy([]api.Term{deep()})
 		self := sample.Roomy([]api.Term{who().Self})
 		v, err := vm.New(program, "m", "f", args, api.Who{Self: self[0], Node: "n@h"})
 		done(t, "New", err)
-		if !untouched(program, clean) || !sample.Untouched(args, []api.Term{deep()}) || !sample.Untouched(self, []api.Term{who().Self}) {
+		if !sample.UntouchedCode(program, clean) || !sample.Untouched(args, []api.Term{deep()}) || !sample.Untouched(self, []api.Term{who().Self}) {
 			t.Fatal("New changes what it is given")
 		}
-		scribbleCode(program)
+		sample.ScribbleCode(program)
 		scribble(args)
 		scribble(self)
 		p := &couple{v, modelOf(clean, "m", "f", []api.Term{deep()}, who()), clean, []string{"scribbled"}}
 		c.follow(t, p, 60)
-		if !untouched(roomy(clean), clean) {
+		if !sample.UntouchedCode(sample.RoomyCode(clean), clean) {
 			t.Fatal("roomy")
 		}
 	}
@@ -94,9 +48,9 @@ func TestCodeIsNotChanged(t *testing.T) {
 	c := chanceOf(rand.New(rand.NewSource(5)).Intn)
 	for seed := range int64(100) {
 		clean := someCode(t, rand.New(rand.NewSource(seed)))
-		program := roomy(clean)
+		program := sample.RoomyCode(clean)
 		c.follow(t, coupleOf(t, program, "m", "f", nil), 60)
-		if !untouched(program, clean) {
+		if !sample.UntouchedCode(program, clean) {
 			t.Fatal("code is changed")
 		}
 	}

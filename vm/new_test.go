@@ -79,32 +79,32 @@ func TestNewCode(t *testing.T) {
 
 // P18.1: an arg that is no term: at its place, with package term's fault under; the first one counts.
 func TestNewArgs(t *testing.T) {
-	for _, w := range wrongs() {
+	for _, w := range sample.NoTerms() {
 		for place := range 4 {
 			args := sample.Ones(4)
-			args[place] = w.value
-			noProcess(t, "an arg", identity(t), args, who(), under(place, w.chain)...)
-			for _, v := range wrongs() {
+			args[place] = w.Value
+			noProcess(t, "an arg", identity(t), args, who(), under(place, w.Chain)...)
+			for _, v := range sample.NoTerms() {
 				if place < 3 {
-					args[3] = v.value
-					noProcess(t, "two args", identity(t), args, who(), under(place, w.chain)...)
+					args[3] = v.Value
+					noProcess(t, "two args", identity(t), args, who(), under(place, w.Chain)...)
 				}
 			}
-			noProcess(t, "an arg, and nobody", identity(t), args, api.Who{}, under(place, w.chain)...)
+			noProcess(t, "an arg, and nobody", identity(t), args, api.Who{}, under(place, w.Chain)...)
 		}
-		last := append(sample.Ones(254), w.value)
-		noProcess(t, "the last arg", identity(t), last, who(), under(254, w.chain)...)
-		noProcess(t, "too many args, one of them no term", identity(t), append(last, w.value), who(), fault(0, api.ErrArity))
+		last := append(sample.Ones(254), w.Value)
+		noProcess(t, "the last arg", identity(t), last, who(), under(254, w.Chain)...)
+		noProcess(t, "too many args, one of them no term", identity(t), append(last, w.Value), who(), fault(0, api.ErrArity))
 	}
 }
 
 // P18.1: a Self that is no term, that is no pid, a Node that is no node's name; in this order.
 func TestNewWho(t *testing.T) {
 	names := []string{"", "n", "@h", "n@", "n@h@i", "n h@i", "n@\xff", strings.Repeat("n", 63) + "@h"}
-	for _, w := range wrongs() {
-		noProcess(t, "Self", identity(t), nil, api.Who{Self: w.value, Node: "n@h"}, under(0, w.chain)...)
+	for _, w := range sample.NoTerms() {
+		noProcess(t, "Self", identity(t), nil, api.Who{Self: w.Value, Node: "n@h"}, under(0, w.Chain)...)
 		for _, n := range names {
-			noProcess(t, "Self and Node", identity(t), nil, api.Who{Self: w.value, Node: n}, under(0, w.chain)...)
+			noProcess(t, "Self and Node", identity(t), nil, api.Who{Self: w.Value, Node: n}, under(0, w.Chain)...)
 		}
 	}
 	for _, self := range []api.Term{num(1), word("a"), sample.Ref("n@h", 1, 1, 2, 3), tuple(who().Self), null(), list(who().Self, null())} {

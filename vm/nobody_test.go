@@ -4,6 +4,7 @@ import (
 	"testing"
 
 	"heddle/api"
+	"heddle/sample"
 	"heddle/vm"
 )
 
@@ -14,7 +15,7 @@ func nobody(t *testing.T, what string, v *vm.VM) {
 		for _, now := range append(noClocks, 0, api.MaxClock) {
 			e, err := v.Run(budget, now)
 			refused(t, what+": Run", err, api.ErrZero)
-			if !sameEvent(e, api.Event{}) {
+			if !sample.SameEvent(e, api.Event{}) {
 				t.Errorf("%s: Run: %+v", what, e)
 			}
 		}

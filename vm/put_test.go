@@ -47,11 +47,11 @@ func TestPut(t *testing.T) {
 func TestPutRefused(t *testing.T) {
 	v := text(t, "f() -> receive z -> 1 end.")
 	for range 2 {
-		for _, w := range wrongs() {
+		for _, w := range sample.NoTerms() {
 			before := look(t, v)
-			mail := append([]api.Fault{{Layer: "mail", Code: w.chain[0].Code}}, w.chain...)
-			if err := v.Put(w.value); !sample.IsFault(err, under(0, mail)...) {
-				t.Errorf("Put(%v): %v", w.value, err)
+			mail := sample.Under("mail", 0, w.Chain)
+			if err := v.Put(w.Value); !sample.IsFault(err, under(0, mail)...) {
+				t.Errorf("Put(%v): %v", w.Value, err)
 			}
 			if after := look(t, v); !after.same(before) {
 				t.Fatalf("%v was %v", after, before)

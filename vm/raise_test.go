@@ -45,13 +45,13 @@ func TestNoCatch(t *testing.T) {
 			Run(budget, now int) (api.Event, error)
 		}{start(t, source(t, "f(X) -> throw(X).", 1), x.t), asked} {
 			e, err := v.Run(1, 0)
-			if err != nil || !sameEvent(e, api.Event{Kind: api.EvEnd, Reason: want}) {
+			if err != nil || !sample.SameEvent(e, api.Event{Kind: api.EvEnd, Reason: want}) {
 				t.Errorf("%d: throw(%s): %s, %v", n, show(x.t), tell(e), err)
 			}
 		}
 		// Of the other classes every reason is one.
 		e, err := start(t, source(t, "f(X) -> exit(X).", 1), x.t).Run(1, 0)
-		if err != nil || !sameEvent(e, api.Event{Kind: api.EvEnd, Reason: x.t}) {
+		if err != nil || !sample.SameEvent(e, api.Event{Kind: api.EvEnd, Reason: x.t}) {
 			t.Errorf("exit(%s): %s, %v", show(x.t), tell(e), err)
 		}
 	}

@@ -6,6 +6,7 @@ import (
 	"testing"
 
 	"heddle/api"
+	"heddle/sample"
 	"heddle/vm"
 )
 
@@ -20,7 +21,7 @@ func noRun(t *testing.T, v *vm.VM, budget, now int, code api.Errno) {
 	before := look(t, v)
 	e, err := v.Run(budget, now)
 	refused(t, fmt.Sprintf("Run(%d, %d)", budget, now), err, code)
-	if after := look(t, v); !sameEvent(e, api.Event{}) || !after.same(before) {
+	if after := look(t, v); !sample.SameEvent(e, api.Event{}) || !after.same(before) {
 		t.Fatalf("Run(%d, %d) is refused with %+v, and changes %v to %v", budget, now, e, before, after)
 	}
 }

@@ -136,15 +136,10 @@ func tell(e api.Event) string {
 		s = "end " + show(e.Reason)
 		e.Reason = api.Term{}
 	}
-	if !sameEvent(e, api.Event{Kind: e.Kind, Used: e.Used}) {
+	if !sample.SameEvent(e, api.Event{Kind: e.Kind, Used: e.Used}) {
 		s += fmt.Sprintf(" and %+v", e)
 	}
 	return s + used
-}
-
-func sameEvent(a, b api.Event) bool {
-	return a.Kind == b.Kind && a.Name == b.Name && slices.EqualFunc(a.Args, b.Args, sample.Same) && sample.Same(a.Reason, b.Reason) &&
-		a.Until == b.Until && a.Timed == b.Timed && a.Used == b.Used
 }
 
 // view is all that is to be seen of a process.
@@ -259,30 +254,5 @@ func perform(t *testing.T, v *vm.VM, call string) (string, error) {
 	return "", nil
 }
 
-// wrong is a value that is no term, and why package term says so.
-type wrong struct {
-	value api.Term
-	chain []api.Fault
-}
-
-func wrongs() []wrong {
-	why := func(at int, code api.Errno) []api.Fault { return []api.Fault{{Layer: "term", At: at, Code: code}} }
-	return []wrong{
-		{api.Term{}, why(0, api.ErrTerm)},
-		{api.Term{Kind: 8}, why(0, api.ErrTerm)},
-		{api.Term{Kind: api.KInt, Int: 1, Text: "a"}, why(0, api.ErrTerm)},
-		{api.Term{Kind: api.KAtom, Text: "a", Args: sample.Ones(1)}, why(0, api.ErrTerm)},
-		{num(api.MaxInt + 1), why(0, api.ErrRange)},
-		{tuple(num(1), list(num(2))), why(2, api.ErrTerm)},
-		{pid("n@h", 1, 5), why(0, api.ErrTerm)},
-		{tuple(sample.Ones(api.MaxSize)...), why(api.MaxSize, api.ErrMany)},
-		{sample.Chain(api.MaxDepth, num(1)), why(api.MaxDepth, api.ErrDeep)},
-		{word("\xff"), append(why(0, api.ErrUTF), api.Fault{Layer: "atom", Code: api.ErrUTF})},
-		{pid("h", 1, 5, 0), append(why(0, api.ErrName), api.Fault{Layer: "atom", Code: api.ErrName})},
-	}
-}
-
 // under is the chain of a fault of this layer with that one under it.
-func under(at int, chain []api.Fault) []api.Fault {
-	return append([]api.Fault{fault(at, chain[0].Code)}, chain...)
-}
+func under(at int, chain []api.Fault) []api.Fault { return sample.Under("vm", at, chain) }
