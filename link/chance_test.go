@@ -8,6 +8,7 @@ import (
 
 	"heddle/api"
 	"heddle/link"
+	"heddle/luck"
 	"heddle/sample"
 	"heddle/term"
 )
@@ -107,7 +108,7 @@ type chance struct {
 	wrong  int // one argument of so many is wrong
 }
 
-func luck(r *rand.Rand) *chance { return &chance{choose: r.Intn, low: 1, wrong: 40} }
+func chanceOf(r *rand.Rand) *chance { return &chance{choose: r.Intn, low: 1, wrong: 40} }
 
 const window = 5
 
@@ -257,7 +258,7 @@ func TestChance(t *testing.T) {
 	for seed := range int64(150) {
 		r := rand.New(rand.NewSource(seed))
 		two := [2]*pair{couple(t), couple(t)}
-		lucks := [2]*chance{luck(r), luck(r)}
+		lucks := [2]*chance{chanceOf(r), chanceOf(r)}
 		for range 500 {
 			i := r.Intn(2)
 			p, c := two[i], lucks[i]
@@ -304,7 +305,7 @@ func TestOnce(t *testing.T) {
 	met := map[string]int{}
 	for seed := range int64(150) {
 		r := rand.New(rand.NewSource(seed))
-		x, m, c := open(t), newModel("a@h", 1), luck(r)
+		x, m, c := open(t), newModel("a@h", 1), chanceOf(r)
 		for range 400 {
 			s := c.step()
 			m.do(s) // for the window alone
@@ -366,20 +367,12 @@ func FuzzCalls(f *testing.F) {
 	f.Add([]byte("heddle links and monitors"))
 	f.Add([]byte{3, 0, 0, 3, 1, 0, 20, 0, 0, 1, 1, 0, 99, 50, 30})
 	f.Fuzz(func(t *testing.T, b []byte) {
-		b = b[:min(len(b), 2000)] // more of them take long, and tell no more
-		choose := func(n int) int {
-			if len(b) == 0 {
-				return 0
-			}
-			k := int(b[0]) % n
-			b = b[1:]
-			return k
-		}
-		p, c := couple(t), &chance{choose: choose, low: 1, wrong: 30}
+		choices := luck.Bytes(b[:min(len(b), 2000)]) // more of them take long, and tell no more
+		p, c := couple(t), &chance{choose: choices.Choose, low: 1, wrong: 30}
 		for _, q := range c.near() {
 			p.try(t, step{call: "born", p: q})
 		}
-		for len(b) > 0 {
+		for len(choices) > 0 {
 			p.try(t, c.step())
 			p.compare(t, c.near())
 			c.move(p.m)

@@ -49,3 +49,17 @@ func TestTerm(t *testing.T) {
 		}
 	}
 }
+
+// Bytes are spent one by one; behind them there is nothing but 0.
+func TestBytes(t *testing.T) {
+	given := []byte{3, 255, 10, 7}
+	b := luck.Bytes(given)
+	for i, want := range []int{3, 1, 0, 7, 0, 0} {
+		if got := b.Choose([]int{4, 2, 5, 255, 100, 1}[i]); got != want || len(b) != max(0, 3-i) {
+			t.Errorf("choice %d: %d, want %d; %d bytes are left", i, got, want, len(b))
+		}
+	}
+	if string(given) != "\x03\xff\n\a" {
+		t.Errorf("%v is changed", given)
+	}
+}

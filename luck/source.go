@@ -10,6 +10,19 @@ import (
 // Choose is a number from 0 to below n, which is above 0.
 type Choose func(n int) int
 
+// Bytes choose by themselves: one is spent for each number, and where none is left, 0 is chosen.
+type Bytes []byte
+
+// Choose spends a byte.
+func (b *Bytes) Choose(n int) int {
+	if len(*b) == 0 {
+		return 0
+	}
+	k := int((*b)[0]) % n
+	*b = (*b)[1:]
+	return k
+}
+
 // How a name stands at a place.
 const (
 	unbound = iota

@@ -259,17 +259,10 @@ func FuzzCalls(f *testing.F) {
 		f.Add(seed, b)
 	}
 	f.Fuzz(func(t *testing.T, seed int64, b []byte) {
-		choose := func(n int) int {
-			if len(b) == 0 {
-				return 0
-			}
-			k := int(b[0]) % n
-			b = b[1:]
-			return k
-		}
+		choices := luck.Bytes(b)
 		p := coupleOf(t, someCode(t, rand.New(rand.NewSource(seed))), "m", "f", nil)
-		c := chanceOf(choose)
-		for len(b) > 0 && len(p.path) < 200 {
+		c := chanceOf(choices.Choose)
+		for len(choices) > 0 && len(p.path) < 200 {
 			c.step(t, p)
 		}
 	})
