@@ -333,8 +333,9 @@ func (p *pair) finish(t testing.TB) {
 	for _, name := range names[:5] {
 		p.try(t, step{call: "break", node: name})
 	}
-	if n := len(p.m.there()); n != 0 {
-		p.fatal(t, "streams are left")
+	// Whoever came at the last times is there still.
+	for _, l := range p.m.there() {
+		p.try(t, step{call: "closed", stream: l.number})
 	}
 }
 

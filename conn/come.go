@@ -30,8 +30,8 @@ func (t *Table) Come(stream int, b []byte, now int) ([]api.Hap, error) {
 
 // read takes bytes, and all frames that are whole with them.
 func (c turn) read(s *stream, b []byte) {
-	if s.node.now() == api.ConnUp {
-		s.node.come = c.at
+	if s.node.where() == api.ConnUp {
+		s.node.come = c.now
 	}
 	if s.reader.Feed(b) != nil {
 		c.end(s)
@@ -67,7 +67,7 @@ func (c turn) shake(s *stream, message []byte) {
 	switch {
 	case isNok(message, err):
 		c.shut(s)
-		s.node.stream, s.node.state, s.node.since = nil, api.ConnAwaited, c.at
+		s.node.stream, s.node.state, s.node.since = nil, api.ConnAwaited, c.now
 		return
 	case err != nil:
 		c.end(s)
@@ -113,7 +113,7 @@ func (c turn) greet(s *stream) {
 
 // statusFor is how a name is answered: where both try, the attempt of the greater one goes on.
 func (t *Table) statusFor(name string, n *node) string {
-	switch n.now() {
+	switch n.where() {
 	case api.ConnUp:
 		return "alive"
 	case api.ConnTrying:
@@ -128,7 +128,7 @@ func (t *Table) statusFor(name string, n *node) string {
 // rise is the end of a handshake that went well.
 func (c turn) rise(s *stream) {
 	n := s.node
-	n.state, n.peer, n.sent, n.come = api.ConnUp, s.side.Now().Peer, c.at, c.at
+	n.state, n.peer, n.sent, n.come = api.ConnUp, s.side.Now().Peer, c.now, c.now
 	c.epochs[n.name]++
 	s.side = nil
 	_ = s.reader.Widen() // it lives, and is narrow as long as there is a side

@@ -16,7 +16,7 @@ func (c turn) shut(s *stream) {
 
 // lose is what the end of a stream is to the node whose it was; a stranger's was nobody's.
 func (c turn) lose(n *node) {
-	switch n.now() {
+	switch n.where() {
 	case api.ConnUp:
 		delete(c.nodes, n.name)
 		c.tell(api.Hap{Kind: api.YDown, Node: n.name})
@@ -81,7 +81,7 @@ func (t *Table) Tick(now int) ([]api.Hap, error) {
 		c.tick(t.nodes[name])
 	}
 	for _, number := range inOrder(t.streams) {
-		if s := t.streams[number]; s.node == nil && c.isOver(s.since) {
+		if s := t.streams[number]; s.node == nil && c.isLate(s.since) {
 			c.end(s)
 		}
 	}
@@ -92,18 +92,18 @@ func (t *Table) Tick(now int) ([]api.Hap, error) {
 func (c turn) tick(n *node) {
 	switch n.state {
 	case api.ConnUp:
-		if c.isOver(n.come) {
+		if c.isLate(n.come) {
 			c.giveUp(n)
-		} else if c.at-n.sent >= api.Interval {
-			n.sent = c.at
+		} else if c.now-n.sent >= api.Interval {
+			n.sent = c.now
 			c.send(n.stream, framed(wide, nil))
 		}
 	case api.ConnTrying, api.ConnAwaited, api.ConnTaken:
-		if c.isOver(n.since) {
+		if c.isLate(n.since) {
 			c.giveUp(n)
 		}
 	}
 }
 
-// isOver tells whether what has to happen in time has not, since then.
-func (c turn) isOver(since int) bool { return c.at-since >= 4*api.Interval }
+// isLate tells whether what has to happen in time has not, since then.
+func (c turn) isLate(since int) bool { return c.now-since >= 4*api.Interval }

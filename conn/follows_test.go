@@ -24,6 +24,15 @@ func pairs(all ...string) []way {
 	return ways
 }
 
+// crowd are two names, or three.
+func crowd(seed int64) []string {
+	all := []string{"a@h", "b@h", "z@h"}
+	if seed%3 == 0 {
+		return all
+	}
+	return all[:2]
+}
+
 // alike are tables with one cookie.
 func alike(all ...string) map[string]string {
 	cookies := map[string]string{}
@@ -38,10 +47,7 @@ func TestTwoThatMay(t *testing.T) {
 	both, simultaneous := 0, 0
 	for seed := range int64(600) {
 		r := rand.New(rand.NewSource(seed))
-		who := []string{"a@h", "b@h"}
-		if seed%3 == 0 {
-			who = append(who, "z@h")
-		}
+		who := crowd(seed)
 		w := newWorld(t, r.Intn, alike(who...))
 		ways := pairs(who...)
 		if seed%5 == 0 {
@@ -88,10 +94,7 @@ func TestOrderWithBreaks(t *testing.T) {
 	lost := 0
 	for seed := range int64(300) {
 		r := rand.New(rand.NewSource(seed))
-		who := []string{"a@h", "b@h"}
-		if seed%3 == 0 {
-			who = append(who, "z@h")
-		}
+		who := crowd(seed)
 		w := newWorld(t, r.Intn, alike(who...))
 		ways := pairs(who...)
 		for i := range 600 {
@@ -163,10 +166,9 @@ func TestUnlikeCookies(t *testing.T) {
 	for seed := range int64(200) {
 		r := rand.New(rand.NewSource(seed))
 		cookies := map[string]string{"a@h": cookie, "b@h": []string{"Secret", "secre", "secret!", "tercets"}[seed%4]}
-		who := []string{"a@h", "b@h"}
-		if seed%3 == 0 {
+		who := crowd(seed)
+		if len(who) > 2 {
 			cookies["z@h"] = cookies[who[r.Intn(2)]]
-			who = append(who, "z@h")
 		}
 		w := newWorld(t, r.Intn, cookies)
 		ways := pairs(who...)

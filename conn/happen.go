@@ -34,8 +34,8 @@ type node struct {
 	peer   api.Peer // likewise
 }
 
-// now is where the connection of a node is of which, perhaps, nothing is kept.
-func (n *node) now() api.ConnState {
+// where is the state of a node; of one of which nothing is kept, too.
+func (n *node) where() api.ConnState {
 	if n == nil {
 		return api.ConnNone
 	}
@@ -50,7 +50,7 @@ func (l *tale) add(h api.Hap) { *l = append(*l, h) }
 // turn is a call under way: its table and time, and who is told what happens.
 type turn struct {
 	*Table
-	at   int
+	now  int
 	tell func(api.Hap)
 }
 
@@ -61,7 +61,7 @@ func (c turn) send(s *stream, bytes []byte) {
 	c.tell(api.Hap{Kind: api.YSend, Stream: s.number, Bytes: bytes})
 }
 
-// framed is a body in a frame. There is one: nobody asks for longer ones.
+// framed is a body in a frame. There is one: nobody frames a body that is too long.
 func framed(width int, body []byte) []byte {
 	b, _ := frame.Frame(width, body)
 	return b

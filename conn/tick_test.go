@@ -65,6 +65,9 @@ func TestTickOfWhoIsUp(t *testing.T) {
 			tick 469 ->
 			tick 470 -> close 1; down b@h
 		`)
+		// No bytes, and bytes that are no whole frame, have come as well.
+		played(t, way+"come 1 - 100 ->\n tick 339 -> send 1 tick\n tick 340 -> close 1; down b@h")
+		played(t, way+"come 1 raw:! 100 ->\n tick 339 -> send 1 tick\n tick 340 -> close 1; down b@h")
 		// Connect sends nothing, and is no sign of the other one.
 		played(t, way+"connect b@h 59 ->\n tick 60 -> send 1 tick\n connect b@h 239 ->\n tick 240 -> close 1; down b@h")
 		// To send is no sign of the other one either, and what comes is nothing that is sent.

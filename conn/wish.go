@@ -58,7 +58,7 @@ func (c turn) post(name string, body []byte) {
 		n.waits = append(n.waits, framed(wide, body))
 		return
 	}
-	n.sent = c.at
+	n.sent = c.now
 	c.send(n.stream, framed(wide, body))
 }
 
@@ -80,7 +80,7 @@ func (t *Table) Opened(node string, stream int, now int) ([]api.Hap, error) {
 // give makes a stream a node's.
 func (c turn) give(s *stream, n *node, state api.ConnState) {
 	s.node = n
-	n.stream, n.state, n.since = s, state, c.at
+	n.stream, n.state, n.since = s, state, c.now
 }
 
 // Refused says that there is none.
