@@ -68,6 +68,7 @@ func TestKeepsNothing(t *testing.T) {
 	me := somebody("m@h")
 	dirty, err := conn.New(me, cookie, seed)
 	done(t, "New", err)
+	me.Name, me.Flags, me.Creation = "x@h", 0, 0
 	clean := open(t)
 	met := map[api.HapKind]int{}
 	for _, s := range calls() {
